@@ -30,31 +30,41 @@ func Tell(port int, lines ...string) []api.Out {
 }
 
 // Reader is what reads one input at a time. A zero one reads input 0, till it is
-// stopped.
+// stopped. A machine that has pieces to tell sets Piece, which tells the next one;
+// with the last one it stops the reader.
 type Reader struct {
-	need int
+	need  int
+	Piece func() []api.Out
 }
 
-// Need tells the input that is read next, or api.Ended.
+// Need tells the input that is read next, api.More while pieces are due, or
+// api.Ended.
 func (r *Reader) Need() int { return r.need }
 
 // Stop makes it ask for nothing any more: it has ended, or failed.
 func (r *Reader) Stop() { r.need = api.Ended }
 
-// More is refused: nothing but an input is ever due.
+// TellPieces makes it ask for pieces, till it is stopped.
+func (r *Reader) TellPieces() { r.need = api.More }
+
+// More tells the next piece, if one is due.
 func (r *Reader) More() ([]api.Out, api.Errno) {
-	if r.need == api.Ended {
+	switch r.need {
+	case api.Ended:
 		return nil, api.ErrDone
+	case api.More:
+		return r.Piece(), api.OK
 	}
 	return nil, api.ErrArg
 }
 
-// mayEnd tells why the end of this input may not come now.
+// mayEnd tells why the end of this input may not come now. While pieces are due no
+// input may, not even one of the number api.More, which is no port.
 func (r *Reader) mayEnd(port int) api.Errno {
 	if r.need == api.Ended {
 		return api.ErrDone
 	}
-	if port != r.need {
+	if r.need == api.More || port != r.need {
 		return api.ErrArg
 	}
 	return api.OK

@@ -1,0 +1,132 @@
+package rig
+
+import (
+	"bytes"
+
+	"penstock/api"
+)
+
+// badChunks are bytes that are no chunk.
+func badChunks() [][]byte {
+	return [][]byte{nil, {}, []byte("s\n")[:0], bytes.Repeat([]byte("\n"), 33), make([]byte, 4096)}
+}
+
+// pester makes all calls that are to be refused now, if the driver is to.
+func (d *Driver) pester() {
+	d.test.Helper()
+	if d.Pesters {
+		d.Pester()
+	}
+}
+
+// Pester makes all calls that are to be refused now.
+func (d *Driver) Pester() {
+	d.test.Helper()
+	need, want := d.Seen.Need, api.ErrArg
+	ports := []int{1, 2, -1, -2, -3, 1 << 40, -1 << 63}
+	if need != 0 {
+		ports = append(ports, 0)
+	}
+	if need == api.Ended {
+		want = api.ErrDone
+	}
+	chunks := append(badChunks(), []byte("p"), []byte("q\n"))
+	for _, port := range ports {
+		for _, b := range chunks {
+			outs, e := d.Machine.Feed(port, b)
+			d.refused(outs, e, want)
+		}
+		outs, e := d.Machine.End(port)
+		d.refused(outs, e, want)
+	}
+	for _, b := range badChunks() {
+		outs, e := d.Machine.Feed(0, b)
+		d.refused(outs, e, want)
+	}
+	if need != api.More {
+		outs, e := d.Machine.More()
+		d.refused(outs, e, want)
+	}
+}
+
+// refused holds an answer, and what is seen behind it, against a refusal.
+func (d *Driver) refused(outs []api.Out, e, want api.Errno) {
+	d.test.Helper()
+	if len(outs) != 0 || e != want {
+		d.wrong("while Need is %d, a call is answered by %+v, error %d; want nothing, %d", d.Seen.Need, outs, e, want)
+	}
+	if need, held := d.Machine.Need(), d.Machine.Held(); need != d.Seen.Need || held != d.Seen.Held {
+		d.wrong("Need %d, Held %d behind a refusal; %d, %d ahead of it", need, held, d.Seen.Need, d.Seen.Held)
+	}
+}
+
+// Refusal is parameters of which New makes no machine, and its error.
+type Refusal struct {
+	P   api.Params
+	Err api.Errno
+}
+
+// HoldNew makes sure that New makes no machine of such parameters, of those that no
+// machine may have, and of those of other kinds, and that it leaves what it is handed.
+func (s Subject) HoldNew(t Test, kind int, own ...Refusal) {
+	t.Helper()
+	for _, r := range append(own, mayNotBe()...) {
+		s.refuses(t, r)
+	}
+	for _, p := range oneOfEachKind() {
+		if p.Kind != kind {
+			s.refuses(t, Refusal{p, api.ErrKind})
+		}
+	}
+}
+
+// refuses makes sure that New makes no machine of such parameters.
+func (s Subject) refuses(t Test, r Refusal) {
+	t.Helper()
+	a, b := string(r.P.A), string(r.P.B)
+	if m, e := s.New(r.P); m != nil || e != r.Err {
+		t.Fatalf("New(%+v): %v, error %d; want none, %d", r.P, m, e, r.Err)
+	}
+	if string(r.P.A) != a || string(r.P.B) != b {
+		t.Fatalf("A %q, B %q behind New; %q, %q ahead of it", r.P.A, r.P.B, a, b)
+	}
+}
+
+// mayNotBe are parameters that may not be, of no kind or of some: that is told ahead of
+// their being of another kind.
+func mayNotBe() []Refusal {
+	return []Refusal{
+		{api.Params{}, api.ErrKind},
+		{api.Params{Kind: -1}, api.ErrKind},
+		{api.Params{Kind: 17, N: -1}, api.ErrKind},
+		{api.Params{Kind: 1 << 40}, api.ErrKind},
+		{api.Params{Kind: -1 << 63}, api.ErrKind},
+		{api.Params{Kind: api.KindHead, N: -1}, api.ErrParam},
+		{api.Params{Kind: api.KindTail, N: -1}, api.ErrParam},
+		{api.Params{Kind: api.KindMatch}, api.ErrParam},
+		{api.Params{Kind: api.KindTail, N: 32}, api.ErrState},
+		{api.Params{Kind: api.KindJoin, N: 15, A: []byte(",")}, api.ErrState},
+	}
+}
+
+// oneOfEachKind are parameters that may be.
+func oneOfEachKind() []api.Params {
+	return []api.Params{
+		{Kind: api.KindSource},
+		{Kind: api.KindSink},
+		{Kind: api.KindHead, N: 1},
+		{Kind: api.KindTail, N: 1},
+		{Kind: api.KindMatch, A: []byte("a")},
+		{Kind: api.KindTurn, A: []byte("a")},
+		{Kind: api.KindFields, N: 1, A: []byte(",")},
+		{Kind: api.KindUniq},
+		{Kind: api.KindCount},
+		{Kind: api.KindNumber, N: 1},
+		{Kind: api.KindSort},
+		{Kind: api.KindChain, N: 1},
+		{Kind: api.KindPaste, N: 1, A: []byte(",")},
+		{Kind: api.KindJoin, N: 1, A: []byte(",")},
+		{Kind: api.KindTee, N: 1},
+		{Kind: api.KindSplit, N: 1},
+	}
+}

@@ -1,0 +1,193 @@
+// Package rig is for the tests of machines that have one input and one output: it
+// hands a machine what it asks for, and holds what is seen of it at each step against
+// the denotation. No layer calls it.
+package rig
+
+import (
+	"strings"
+
+	"penstock/api"
+	"penstock/params"
+)
+
+// Test is what is needed of a test: a *testing.T is one.
+type Test interface {
+	Helper()
+	Fatalf(format string, args ...any)
+}
+
+// Input is what a machine's input has told.
+type Input struct {
+	Text  string
+	Ended bool
+}
+
+// Seen is what is seen of a machine: all that came out, what it asks for, the error by
+// which it failed, and how many bytes it holds.
+type Seen struct {
+	Out  string
+	Need int
+	Err  api.Errno
+	Held int
+}
+
+// Subject is machines of one kind: how they are made, and what is to be seen of one
+// that has heard so much of its input, and has no more pieces to tell.
+type Subject struct {
+	New    func(p api.Params) (api.Machine, api.Errno)
+	Reckon func(p api.Params, in Input) Seen
+}
+
+// Driver drives one machine. Seen is what was seen by the last step, Answers are all
+// answers that were not empty.
+type Driver struct {
+	Machine api.Machine
+	Seen    Seen
+	Answers []string
+
+	// Pesters makes it make all calls that are to be refused ahead of each step, and
+	// behind the last one.
+	Pesters bool
+
+	test    Test
+	subject Subject
+	p       api.Params
+	in      Input
+}
+
+// Make makes a machine that must be one.
+func (s Subject) Make(t Test, p api.Params) api.Machine {
+	t.Helper()
+	m, e := s.New(p)
+	if e != api.OK || m == nil {
+		t.Fatalf("New of %+v: %v, error %d; want a machine", p, m, e)
+	}
+	return m
+}
+
+// Drive makes a machine, and its driver.
+func (s Subject) Drive(t Test, p api.Params) *Driver {
+	t.Helper()
+	d := &Driver{Machine: s.Make(t, p), test: t, subject: s, p: p}
+	d.note(nil, api.OK)
+	d.compare()
+	return d
+}
+
+// Run hands a machine a whole input, in chunks whose sizes come by turns, as long as it
+// asks for it, and answers what was seen at last.
+func (s Subject) Run(t Test, p api.Params, input string, sizes ...int) Seen {
+	t.Helper()
+	return s.Drive(t, p).Run(input, sizes...)
+}
+
+// Run hands on a whole input, likewise.
+func (d *Driver) Run(input string, sizes ...int) Seen {
+	d.test.Helper()
+	for k := 0; d.Seen.Need == 0 && input != ""; k++ {
+		size := min(sizes[k%len(sizes)], len(input))
+		d.Feed(input[:size])
+		input = input[size:]
+	}
+	if d.Seen.Need == 0 {
+		d.End()
+	}
+	d.pester()
+	return d.Seen
+}
+
+// Feed hands on a chunk, in memory that is written over behind the call, and asks for
+// the pieces that are due by it.
+func (d *Driver) Feed(chunk string) {
+	d.test.Helper()
+	d.pester()
+	const behind = "????????"
+	memory := []byte(chunk + behind)
+	outs, e := d.Machine.Feed(0, memory[:len(chunk)])
+	if string(memory) != chunk+behind {
+		d.wrong("Feed of %q made it %q", chunk, memory)
+	}
+	spoil(memory)
+	d.in.Text += chunk
+	d.note(outs, e)
+	d.takePieces()
+}
+
+// End tells that the input has ended, and asks for the pieces that are due by that.
+func (d *Driver) End() {
+	d.test.Helper()
+	d.pester()
+	d.in.Ended = true
+	d.note(d.Machine.End(0))
+	d.takePieces()
+}
+
+// takePieces asks for pieces, as long as some are due: each must tell something that
+// is due.
+func (d *Driver) takePieces() {
+	d.test.Helper()
+	for d.Seen.Err == api.OK && d.Seen.Need == api.More {
+		d.pester()
+		before := d.Seen.Out
+		d.note(d.Machine.More())
+		if d.Seen.Out == before && d.Seen.Err == api.OK {
+			d.wrong("a piece without bytes")
+		}
+		if want := d.subject.Reckon(d.p, d.in).Out; !strings.HasPrefix(want, d.Seen.Out) {
+			d.wrong("%q came out by a piece; want a beginning of %q", d.Seen.Out, want)
+		}
+	}
+	d.compare()
+}
+
+// compare holds what was seen against the denotation. What one that has failed holds
+// is left to it, within its bound.
+func (d *Driver) compare() {
+	d.test.Helper()
+	want := d.subject.Reckon(d.p, d.in)
+	if want.Err != api.OK {
+		want.Held = d.Seen.Held
+	}
+	if d.Seen != want {
+		d.wrong("%+v; want %+v", d.Seen, want)
+	}
+}
+
+// note puts an answer behind those that came, and then writes over it: if that were
+// the machine's own memory, what comes later would tell it.
+func (d *Driver) note(outs []api.Out, e api.Errno) {
+	d.test.Helper()
+	text := ""
+	for i, o := range outs {
+		if o.Port != 0 || len(o.Bytes) == 0 {
+			d.wrong("Out %+v", o)
+		}
+		text += string(o.Bytes)
+		spoil(o.Bytes[:cap(o.Bytes)])
+		outs[i] = api.Out{Port: 77}
+	}
+	if len(text) > api.MaxAnswer {
+		d.wrong("an answer of %d bytes", len(text))
+	}
+	if text != "" {
+		d.Answers = append(d.Answers, text)
+	}
+	d.Seen = Seen{d.Seen.Out + text, d.Machine.Need(), e, d.Machine.Held()}
+	if bound, _ := params.Bound(d.p); d.Seen.Held < 0 || d.Seen.Held > bound {
+		d.wrong("it holds %d bytes; at most %d", d.Seen.Held, bound)
+	}
+}
+
+// wrong ends the test, and tells by what.
+func (d *Driver) wrong(format string, args ...any) {
+	d.test.Helper()
+	at := []any{d.p, d.in.Text, d.in.Ended}
+	d.test.Fatalf("%+v, input %q (ended: %v): "+format, append(at, args...)...)
+}
+
+// spoil writes over bytes.
+func spoil(b []byte) {
+	for i := range b {
+		b[i] = '!'
+	}
+}

@@ -195,15 +195,7 @@ func TestHeldIsTheLineThatIsBegun(t *testing.T) {
 
 // P4.4
 func TestChunksOfMaxChunkBytesAreTakenAndNoGreaterOnes(t *testing.T) {
-	m := heads.Make(t, of(3))
-	full := strings.Repeat("x", 31) + "\n"
-	outs, e := m.Feed(0, []byte(full+"\n"))
-	if len(outs) != 0 || e != api.ErrArg || m.Held() != 0 || m.Need() != 0 {
-		t.Errorf("33 bytes: %+v, %v, Held %d, Need %d; want ErrArg", outs, e, m.Held(), m.Need())
-	}
-	if outs, e = m.Feed(0, []byte(full)); rig.Text(outs) != full || e != api.OK {
-		t.Errorf("32 bytes: %+v, %v", outs, e)
-	}
+	heads.HoldChunkLimits(t, of(1), of(3))
 }
 
 // P4.4
@@ -231,19 +223,8 @@ func TestMachinesShareNothing(t *testing.T) {
 
 // P4.4: answers that are kept stay as they are, whatever comes behind them
 func TestAnswersAreNewMemory(t *testing.T) {
-	m := heads.Make(t, of(greatest))
-	var kept [][]api.Out
-	chunk := []byte("..\n.\n")
-	for c := byte('a'); c <= 'z'; c++ {
-		chunk[0], chunk[1], chunk[3] = c, c, c
-		outs, _ := m.Feed(0, chunk)
-		kept = append(kept, outs)
-	}
-	for i, outs := range kept {
-		c := string(rune('a' + i))
-		if got := rig.Text(outs); got != c+c+"\n"+c+"\n" {
-			t.Errorf("answer %d is %q now", i, got)
-		}
+	for _, size := range []int{1, 2, 3, 5, 32} {
+		heads.HoldAnswers(t, of(greatest), rig.Letters(), size)
 	}
 }
 

@@ -6,37 +6,6 @@ import (
 	"penstock/api"
 )
 
-// Word is a line of so many bytes, without its end.
-func Word(n int) string {
-	return strings.Repeat("abcdefg", n/7+1)[:n]
-}
-
-// Inputs are inputs of a machine of lines.
-func Inputs() []string {
-	return []string{
-		"",
-		"\n",
-		"\n\n\n",
-		"a",
-		"a\n",
-		"a\nb\nc",
-		"a\nb\nc\n",
-		"ab\n\ncd\n\n",
-		"\x00\xff\r\n\x80 \t\n\x0b",
-		Word(64) + "\n",
-		Word(64),
-		"a\n" + Word(64) + "\n" + Word(63) + "\n" + Word(64),
-		Word(65),
-		Word(65) + "\n",
-		"a\nbb\n" + Word(65) + "\nc\n",
-		"a\nbb\n" + Word(65),
-		"a\nbb\n" + Word(200) + "\nc",
-		Word(64) + "\n\n" + Word(65) + "\n",
-		strings.Repeat("\n", 70),
-		strings.Repeat("xy\n", 40) + "z",
-	}
-}
-
 // Text is an answer's bytes.
 func Text(outs []api.Out) string {
 	text := ""
@@ -70,6 +39,37 @@ func (s Subject) HoldRefusals(t Test, p api.Params, input string) {
 		d := s.Drive(t, p)
 		d.Pesters = true
 		d.Run(input, size)
+	}
+}
+
+// HoldAnswers hands a machine a whole input, all chunks in the same memory, and keeps
+// what is answered: in the end that is what it was when it came.
+func (s Subject) HoldAnswers(t Test, p api.Params, input string, size int) {
+	t.Helper()
+	m := s.Make(t, p)
+	var kept [][]api.Out
+	var came []string
+	keep := func(outs []api.Out, _ api.Errno) {
+		kept = append(kept, outs)
+		came = append(came, Text(outs))
+	}
+	chunk := make([]byte, size)
+	for ended := false; m.Need() != api.Ended && !ended; {
+		n := copy(chunk, input)
+		input = input[n:]
+		if ended = n == 0; ended {
+			keep(m.End(0))
+		} else {
+			keep(m.Feed(0, chunk[:n]))
+		}
+		for m.Need() == api.More {
+			keep(m.More())
+		}
+	}
+	for i, outs := range kept {
+		if now := Text(outs); now != came[i] {
+			t.Fatalf("%+v: answer %d was %q, and is %q now", p, i, came[i], now)
+		}
 	}
 }
 

@@ -33,14 +33,14 @@ func (d *Driver) Pester() {
 	chunks := append(badChunks(), []byte("p"), []byte("q\n"))
 	for _, port := range ports {
 		for _, b := range chunks {
-			outs, e := d.Machine.Feed(port, b)
+			outs, e := d.feed(port, b)
 			d.refused(outs, e, want)
 		}
 		outs, e := d.Machine.End(port)
 		d.refused(outs, e, want)
 	}
 	for _, b := range badChunks() {
-		outs, e := d.Machine.Feed(0, b)
+		outs, e := d.feed(0, b)
 		d.refused(outs, e, want)
 	}
 	if need != api.More {
@@ -57,6 +57,19 @@ func (d *Driver) refused(outs []api.Out, e, want api.Errno) {
 	}
 	if need, held := d.Machine.Need(), d.Machine.Held(); need != d.Seen.Need || held != d.Seen.Held {
 		d.wrong("Need %d, Held %d behind a refusal; %d, %d ahead of it", need, held, d.Seen.Need, d.Seen.Held)
+	}
+}
+
+// HoldChunkLimits hands machines that read a chunk of one byte more than there may be,
+// and then one of as many.
+func (s Subject) HoldChunkLimits(t Test, params ...api.Params) {
+	t.Helper()
+	for _, p := range params {
+		d := s.Drive(t, p)
+		full := Word(31) + "\n"
+		outs, e := d.feed(0, []byte(full+"\n"))
+		d.refused(outs, e, api.ErrArg)
+		d.Feed(full)
 	}
 }
 

@@ -4,6 +4,7 @@
 package rig
 
 import (
+	"slices"
 	"strings"
 
 	"penstock/api"
@@ -55,12 +56,16 @@ type Driver struct {
 	in      Input
 }
 
-// Make makes a machine that must be one.
+// Make makes a machine that must be one. The parameters' bytes are lent to New.
 func (s Subject) Make(t Test, p api.Params) api.Machine {
 	t.Helper()
-	m, e := s.New(p)
+	lent := api.Params{Kind: p.Kind, N: p.N, A: lend(p.A), B: lend(p.B)}
+	m, e := s.New(lent)
 	if e != api.OK || m == nil {
 		t.Fatalf("New of %+v: %v, error %d; want a machine", p, m, e)
+	}
+	if isChanged(lent.A, p.A) || isChanged(lent.B, p.B) {
+		t.Fatalf("New of %+v changed A or B", p)
 	}
 	return m
 }
@@ -96,21 +101,25 @@ func (d *Driver) Run(input string, sizes ...int) Seen {
 	return d.Seen
 }
 
-// Feed hands on a chunk, in memory that is written over behind the call, and asks for
-// the pieces that are due by it.
+// Feed hands on a chunk, and asks for the pieces that are due by it.
 func (d *Driver) Feed(chunk string) {
 	d.test.Helper()
 	d.pester()
-	const behind = "????????"
-	memory := []byte(chunk + behind)
-	outs, e := d.Machine.Feed(0, memory[:len(chunk)])
-	if string(memory) != chunk+behind {
-		d.wrong("Feed of %q made it %q", chunk, memory)
-	}
-	spoil(memory)
+	outs, e := d.feed(0, []byte(chunk))
 	d.in.Text += chunk
 	d.note(outs, e)
 	d.takePieces()
+}
+
+// feed lends a chunk to the machine.
+func (d *Driver) feed(port int, chunk []byte) ([]api.Out, api.Errno) {
+	d.test.Helper()
+	lent := lend(chunk)
+	outs, e := d.Machine.Feed(port, lent)
+	if isChanged(lent, chunk) {
+		d.wrong("Feed of %q changed it", chunk)
+	}
+	return outs, e
 }
 
 // End tells that the input has ended, and asks for the pieces that are due by that.
@@ -183,6 +192,29 @@ func (d *Driver) wrong(format string, args ...any) {
 	d.test.Helper()
 	at := []any{d.p, d.in.Text, d.in.Ended}
 	d.test.Fatalf("%+v, input %q (ended: %v): "+format, append(at, args...)...)
+}
+
+// behind stands in memory behind bytes that are lent.
+const behind = "????????"
+
+// lend makes bytes that are handed in: such as are nil stay so.
+func lend(b []byte) []byte {
+	if b == nil {
+		return nil
+	}
+	return append(slices.Clone(b), behind...)[:len(b)]
+}
+
+// isChanged tells whether what was lent, or what stands behind it, is another than it
+// was, and then writes over it: if it were kept, what comes later would tell it.
+func isChanged(lent, b []byte) bool {
+	if lent == nil {
+		return false
+	}
+	memory := lent[:len(b)+len(behind)]
+	changed := string(memory) != string(b)+behind
+	spoil(memory)
+	return changed
 }
 
 // spoil writes over bytes.

@@ -306,15 +306,7 @@ func TestHeldIsLessByEachLineThatWasTold(t *testing.T) {
 
 // P5.4
 func TestChunksOfMaxChunkBytesAreTakenAndNoGreaterOnes(t *testing.T) {
-	m := tails.Make(t, of(3))
-	full := strings.Repeat("x", 31) + "\n"
-	outs, e := m.Feed(0, []byte(full+"\n"))
-	if len(outs) != 0 || e != api.ErrArg || m.Held() != 0 || m.Need() != 0 {
-		t.Errorf("33 bytes: %+v, %v, Held %d, Need %d; want ErrArg", outs, e, m.Held(), m.Need())
-	}
-	if outs, e = m.Feed(0, []byte(full)); len(outs) != 0 || e != api.OK || m.Held() != 31 {
-		t.Errorf("32 bytes: %+v, %v, Held %d", outs, e, m.Held())
-	}
+	tails.HoldChunkLimits(t, of(0), of(3))
 }
 
 // P5.4
@@ -364,27 +356,8 @@ func TestMachinesShareNothing(t *testing.T) {
 
 // P5.4: answers that are kept stay as they are, whatever comes behind them
 func TestAnswersAreNewMemory(t *testing.T) {
-	m := tails.Make(t, of(26))
-	chunk := []byte("..\n")
-	for c := byte('a'); c <= 'z'; c++ {
-		chunk[0], chunk[1] = c, c
-		m.Feed(0, chunk)
-	}
-	outs, _ := m.End(0)
-	kept := [][]api.Out{outs}
-	for range 26 {
-		outs, _ = m.More()
-		kept = append(kept, outs)
-	}
-	got, want := "", ""
-	for _, outs := range kept {
-		got += rig.Text(outs)
-	}
-	for c := 'a'; c <= 'z'; c++ {
-		want += string([]rune{c, c, '\n'})
-	}
-	if got != want {
-		t.Errorf("the answers are %q now; want %q", got, want)
+	for _, size := range []int{1, 2, 3, 5, 32} {
+		tails.HoldAnswers(t, of(26), rig.Letters(), size)
 	}
 }
 

@@ -15,6 +15,26 @@ func Text(outs []api.Out) string {
 	return text
 }
 
+// Told is all that a machine tells of a whole input, by chunks of one size, without a
+// look at the denotation: it must read all of that, and have no pieces to tell.
+func (s Subject) Told(t Test, p api.Params, input string, size int) string {
+	t.Helper()
+	m := s.Make(t, p)
+	text := ""
+	for at := 0; at < len(input); at += size {
+		outs, e := m.Feed(0, []byte(input[at:min(at+size, len(input))]))
+		if e != api.OK {
+			t.Fatalf("%+v, input %q, behind byte %d: error %d", p, input, at, e)
+		}
+		text += Text(outs)
+	}
+	outs, e := m.End(0)
+	if e != api.OK || m.Need() != api.Ended {
+		t.Fatalf("%+v, the end of input %q: error %d, Need %d", p, input, e, m.Need())
+	}
+	return text + Text(outs)
+}
+
 // HoldChunks runs a machine by chunks of every size, and of several: what is seen at
 // last is the same.
 func (s Subject) HoldChunks(t Test, p api.Params, input string) {

@@ -335,35 +335,13 @@ func TestPartsComeToWhatEachComesTo(t *testing.T) {
 	for _, p := range some() {
 		for _, first := range parts {
 			for _, second := range parts {
-				both, one, other := told(t, p, first+second, 7), told(t, p, first, 32), told(t, p, second, 1)
+				both, one, other := turns.Told(t, p, first+second, 7), turns.Told(t, p, first, 32), turns.Told(t, p, second, 1)
 				if both != one+other {
 					t.Errorf("%+v: %q and %q come to %q; each by itself to %q and %q", p, first, second, both, one, other)
 				}
 			}
 		}
 	}
-}
-
-// told is all that a machine tells of an input.
-func told(t *testing.T, p api.Params, input string, size int) string {
-	t.Helper()
-	m, e := New(p)
-	if e != api.OK {
-		t.Fatalf("New of %+v: %v", p, e)
-	}
-	text := ""
-	for at := 0; at < len(input); at += size {
-		outs, e := m.Feed(0, []byte(input[at:min(at+size, len(input))]))
-		if e != api.OK {
-			t.Fatalf("%+v, %q behind byte %d: %v", p, input, at, e)
-		}
-		text += rig.Text(outs)
-	}
-	outs, e := m.End(0)
-	if e != api.OK || m.Need() != api.Ended {
-		t.Fatalf("%+v, the end of %q: %v, Need %d", p, input, e, m.Need())
-	}
-	return text + rig.Text(outs)
 }
 
 // P7.2 to P7.6, of any bytes

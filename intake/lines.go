@@ -12,10 +12,12 @@ const lineEnd = 10
 
 // Lines is what machines of lines have in common: a reader of one input whose
 // chunks are cut into lines. Each is what comes of a line; it may stop the reader.
+// Last, if a machine sets it, is what comes of the input's end, behind all lines.
 type Lines struct {
 	Reader
 	line.Splitter
 	Each func(text string) []api.Out
+	Last func() []api.Out
 }
 
 // Feed takes a chunk. It is cut line by line, so that nothing behind a line by
@@ -48,6 +50,9 @@ func (l *Lines) End(port int) ([]api.Out, api.Errno) {
 	var outs []api.Out
 	if text, ok := l.Rest(); ok {
 		outs = l.Each(text)
+	}
+	if l.Last != nil {
+		outs = append(outs, l.Last()...)
 	}
 	l.Stop()
 	return outs, api.OK

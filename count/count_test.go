@@ -319,33 +319,21 @@ func TestRefusalsChangeNothing(t *testing.T) {
 
 // P10.4: one by one, each with the counts behind it
 func TestWhatIsRefusedIsNotCounted(t *testing.T) {
-	for name, call := range map[string]func(m api.Machine) ([]api.Out, api.Errno){
-		"Feed of port 1":        func(m api.Machine) ([]api.Out, api.Errno) { return m.Feed(1, []byte("x\n")) },
-		"Feed of port Ended":    func(m api.Machine) ([]api.Out, api.Errno) { return m.Feed(api.Ended, []byte("x\n")) },
-		"Feed of port More":     func(m api.Machine) ([]api.Out, api.Errno) { return m.Feed(api.More, []byte("x\n")) },
-		"Feed of nil":           func(m api.Machine) ([]api.Out, api.Errno) { return m.Feed(0, nil) },
-		"Feed of no bytes":      func(m api.Machine) ([]api.Out, api.Errno) { return m.Feed(0, []byte{}) },
-		"Feed of 33 bytes":      func(m api.Machine) ([]api.Out, api.Errno) { return m.Feed(0, bytes.Repeat([]byte("\n"), 33)) },
-		"Feed of 100,000 bytes": func(m api.Machine) ([]api.Out, api.Errno) { return m.Feed(0, bytes.Repeat([]byte("\n"), 100000)) },
-		"End of port 1":         func(m api.Machine) ([]api.Out, api.Errno) { return m.End(1) },
-		"End of port Ended":     func(m api.Machine) ([]api.Out, api.Errno) { return m.End(api.Ended) },
-		"End of port More":      func(m api.Machine) ([]api.Out, api.Errno) { return m.End(api.More) },
-		"More":                  func(m api.Machine) ([]api.Out, api.Errno) { return m.More() },
-	} {
+	for _, call := range rig.UndueCalls() {
 		for _, ahead := range []string{"", "a\nb\n"} {
 			m := counts.Make(t, ofCount)
 			if ahead != "" {
 				m.Feed(0, []byte(ahead))
 			}
-			if outs, e := call(m); outs != nil || e != api.ErrArg || m.Need() != 0 || m.Held() != 0 {
-				t.Errorf("%s, behind %q: %+v, %v, Need %d, Held %d; want ErrArg", name, ahead, outs, e, m.Need(), m.Held())
+			if outs, e := call.Make(m); outs != nil || e != api.ErrArg || m.Need() != 0 || m.Held() != 0 {
+				t.Errorf("%s, behind %q: %+v, %v, Need %d, Held %d; want ErrArg", call.Name, ahead, outs, e, m.Need(), m.Held())
 			}
 			m.Feed(0, []byte("c\n"))
 			if outs, _ := m.End(0); rig.Text(outs) != counted(ahead+"c\n") {
-				t.Errorf("%s, behind %q: %q in the end", name, ahead, rig.Text(outs))
+				t.Errorf("%s, behind %q: %q in the end", call.Name, ahead, rig.Text(outs))
 			}
-			if outs, e := call(m); outs != nil || e != api.ErrDone || m.Need() != api.Ended || m.Held() != 0 {
-				t.Errorf("%s, behind the end: %+v, %v, Need %d, Held %d; want ErrDone", name, outs, e, m.Need(), m.Held())
+			if outs, e := call.Make(m); outs != nil || e != api.ErrDone || m.Need() != api.Ended || m.Held() != 0 {
+				t.Errorf("%s, behind the end: %+v, %v, Need %d, Held %d; want ErrDone", call.Name, outs, e, m.Need(), m.Held())
 			}
 		}
 	}
@@ -445,13 +433,7 @@ func TestCountsOfPartsAreSums(t *testing.T) {
 
 // P10.7: of all inputs of a few bytes, wherever they are parted
 func TestCountsOfPartsOfSmallInputsAreSums(t *testing.T) {
-	inputs := []string{""}
-	for at := 0; at < len(inputs) && len(inputs[at]) < 6; at++ {
-		for _, c := range []string{"1", " ", "\n"} {
-			inputs = append(inputs, inputs[at]+c)
-		}
-	}
-	for _, input := range inputs {
+	for _, input := range rig.SmallInputs(6) {
 		for at := range len(input) + 1 {
 			holdSums(t, input[:at], input[at:])
 		}

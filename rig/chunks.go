@@ -35,6 +35,16 @@ func (s Subject) Told(t Test, p api.Params, input string, size int) string {
 	return text + Text(outs)
 }
 
+// Take hands a machine a chunk, and holds what comes of it, and how many bytes are held
+// then, against what is to be: it must read on behind it.
+func Take(t Test, m api.Machine, chunk, out string, held int) {
+	t.Helper()
+	outs, e := m.Feed(0, []byte(chunk))
+	if Text(outs) != out || e != api.OK || m.Need() != 0 || m.Held() != held {
+		t.Fatalf("%q: %q, error %d, Need %d, Held %d; want %q, Held %d", chunk, Text(outs), e, m.Need(), m.Held(), out, held)
+	}
+}
+
 // HoldChunks runs a machine by chunks of every size, and of several: what is seen at
 // last is the same.
 func (s Subject) HoldChunks(t Test, p api.Params, input string) {

@@ -47,8 +47,21 @@ func Letters() string {
 	return text
 }
 
+// SmallInputs are all inputs of so many bytes at most, each of them a digit, a blank, or
+// an end of a line.
+func SmallInputs(most int) []string {
+	inputs := []string{""}
+	for at := 0; len(inputs[at]) < most; at++ {
+		for _, c := range []string{"1", " ", "\n"} {
+			inputs = append(inputs, inputs[at]+c)
+		}
+	}
+	return inputs
+}
+
 // EachLine reckons what is to be seen of a machine that holds nothing but the line that
-// is begun, and of whose lines each comes to a text by itself.
+// is begun, and of whose lines each comes to a text. It asks for that of each line that
+// is told once, in their order.
 func EachLine(in Input, comesTo func(text string) string) Seen {
 	out, input := "", in.Text
 	for {

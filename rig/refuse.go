@@ -2,6 +2,7 @@ package rig
 
 import (
 	"bytes"
+	"strings"
 
 	"penstock/api"
 )
@@ -58,6 +59,40 @@ func (d *Driver) refused(outs []api.Out, e, want api.Errno) {
 	if need, held := d.Machine.Need(), d.Machine.Held(); need != d.Seen.Need || held != d.Seen.Held {
 		d.wrong("Need %d, Held %d behind a refusal; %d, %d ahead of it", need, held, d.Seen.Need, d.Seen.Held)
 	}
+}
+
+// Call is a call of a machine, and what it is.
+type Call struct {
+	Name string
+	Make func(m api.Machine) ([]api.Out, api.Errno)
+}
+
+// UndueCalls are calls that are refused by any machine that reads its input, and by one
+// that has ended.
+func UndueCalls() []Call {
+	return []Call{
+		undueFeed("Feed of port 1", 1, "x\n"),
+		undueFeed("Feed of port Ended", api.Ended, "x\n"),
+		undueFeed("Feed of port More", api.More, "x\n"),
+		undueFeed("Feed of no bytes", 0, ""),
+		undueFeed("Feed of 33 bytes", 0, strings.Repeat("\n", 33)),
+		undueFeed("Feed of 100,000 bytes", 0, strings.Repeat("\n", 100000)),
+		{"Feed of nil", func(m api.Machine) ([]api.Out, api.Errno) { return m.Feed(0, nil) }},
+		undueEnd("End of port 1", 1),
+		undueEnd("End of port Ended", api.Ended),
+		undueEnd("End of port More", api.More),
+		{"More", api.Machine.More},
+	}
+}
+
+// undueFeed is a Feed of such bytes.
+func undueFeed(name string, port int, text string) Call {
+	return Call{name, func(m api.Machine) ([]api.Out, api.Errno) { return m.Feed(port, []byte(text)) }}
+}
+
+// undueEnd is an End of such a port.
+func undueEnd(name string, port int) Call {
+	return Call{name, func(m api.Machine) ([]api.Out, api.Errno) { return m.End(port) }}
 }
 
 // HoldChunkLimits hands machines that read a chunk of one byte more than there may be,

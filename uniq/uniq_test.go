@@ -259,11 +259,8 @@ type step struct {
 // take hands a machine a chunk by each step, and compares.
 func take(t *testing.T, m api.Machine, steps []step) {
 	t.Helper()
-	for i, s := range steps {
-		outs, e := m.Feed(0, []byte(s.chunk))
-		if rig.Text(outs) != s.out || e != api.OK || m.Need() != 0 || m.Held() != s.held {
-			t.Errorf("chunk %d, %q: %q, %v, Need %d, Held %d; want %q, Held %d", i, s.chunk, rig.Text(outs), e, m.Need(), m.Held(), s.out, s.held)
-		}
+	for _, s := range steps {
+		rig.Take(t, m, s.chunk, s.out, s.held)
 	}
 }
 
@@ -478,13 +475,7 @@ func TestWhatComesAsOftenAsItWasCountedIsTheInput(t *testing.T) {
 
 // P9.7: of all inputs of a few bytes
 func TestWhatComesOfSmallInputsAsOftenAsItWasCountedIsTheInput(t *testing.T) {
-	inputs := []string{""}
-	for at := 0; at < len(inputs) && len(inputs[at]) < 7; at++ {
-		for _, c := range []string{"1", " ", "\n"} {
-			inputs = append(inputs, inputs[at]+c)
-		}
-	}
-	for _, input := range inputs {
+	for _, input := range rig.SmallInputs(7) {
 		holdCounted(t, input, uniqs.Told(t, of(0), input, 2), uniqs.Told(t, of(1), input, 32))
 	}
 }

@@ -11,7 +11,7 @@ import (
 )
 
 // counts are what is tested, held against reckon.
-var counts = rig.Subject{New: New, Reckon: reckon}
+var counts = rig.Subject{New: New, Reckon: rig.OfOne(reckon)}
 
 // ofCount are the parameters of a count.
 var ofCount = api.Params{Kind: api.KindCount}

@@ -9,7 +9,7 @@ import (
 )
 
 // choices are what is tested, held against reckon.
-var choices = rig.Subject{New: New, Reckon: reckon}
+var choices = rig.Subject{New: New, Reckon: rig.OfOne(reckon)}
 
 // all is the greatest N: each bit.
 const all = 65535

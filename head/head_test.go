@@ -13,7 +13,7 @@ import (
 const greatest = 1000000000
 
 // heads are what is tested, held against reckon.
-var heads = rig.Subject{New: New, Reckon: reckon}
+var heads = rig.Subject{New: New, Reckon: rig.OfOne(reckon)}
 
 // counts are the Ns that the inputs are tried with.
 var counts = []int{0, 1, 2, 3, 4, 5, 39, 41, 42, greatest}

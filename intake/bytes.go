@@ -2,9 +2,10 @@ package intake
 
 import "penstock/api"
 
-// Bytes is what machines that know no lines have in common: a reader of one input
-// whose chunks are handed on as they come. Each is what comes of a chunk's bytes, which
-// it may neither change nor keep.
+// Bytes is what machines that know no lines have in common: a reader whose chunks are
+// handed on as they come. Each is what comes of a chunk's bytes, which it may neither
+// change nor keep. By an input's end it stops: a machine that has another input to read
+// then makes it read that.
 type Bytes struct {
 	Reader
 	Each func(b ...byte) []api.Out

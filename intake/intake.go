@@ -34,9 +34,9 @@ func TellBytes(port int, b ...byte) []api.Out {
 	return []api.Out{{Port: port, Bytes: bytes.Clone(b)}}
 }
 
-// Reader is what reads one input at a time. A zero one reads input 0, till it is
-// stopped. A machine that has pieces to tell sets Piece, which tells the next one;
-// with the last one it stops the reader.
+// Reader is what reads one input at a time. A zero one reads input 0, till it is made
+// to read another one, or is stopped. A machine that has pieces to tell sets Piece,
+// which tells the next one; with the last one it stops the reader.
 type Reader struct {
 	need  int
 	Piece func() []api.Out
@@ -45,6 +45,9 @@ type Reader struct {
 // Need tells the input that is read next, api.More while pieces are due, or
 // api.Ended.
 func (r *Reader) Need() int { return r.need }
+
+// Read makes it ask for this input from now on.
+func (r *Reader) Read(port int) { r.need = port }
 
 // Stop makes it ask for nothing any more: it has ended, or failed.
 func (r *Reader) Stop() { r.need = api.Ended }

@@ -10,7 +10,7 @@ import (
 )
 
 // matches are what is tested, held against reckon.
-var matches = rig.Subject{New: New, Reckon: reckon}
+var matches = rig.Subject{New: New, Reckon: rig.OfOne(reckon)}
 
 // having and lacking are the Ns of a match: which lines it takes.
 const (

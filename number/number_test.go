@@ -14,7 +14,7 @@ import (
 const greatest = 1000000000
 
 // numbers are what is tested, held against reckon.
-var numbers = rig.Subject{New: New, Reckon: reckon}
+var numbers = rig.Subject{New: New, Reckon: rig.OfOne(reckon)}
 
 // of makes the parameters of a number.
 func of(n int) api.Params {

@@ -1,10 +1,6 @@
 package rig
 
-import (
-	"strings"
-
-	"penstock/api"
-)
+import "penstock/api"
 
 // Text is an answer's bytes.
 func Text(outs []api.Out) string {
@@ -16,23 +12,29 @@ func Text(outs []api.Out) string {
 }
 
 // Told is all that a machine tells of a whole input, by chunks of one size, without a
-// look at the denotation: it must read all of that, and have no pieces to tell.
+// look at the denotation: it must read all of that.
 func (s Subject) Told(t Test, p api.Params, input string, size int) string {
+	t.Helper()
+	return s.ToldOf(t, p, size, input)
+}
+
+// ToldOf is all that a machine tells of whole inputs, likewise.
+func (s Subject) ToldOf(t Test, p api.Params, size int, inputs ...string) string {
 	t.Helper()
 	m := s.Make(t, p)
 	text := ""
-	for at := 0; at < len(input); at += size {
-		outs, e := m.Feed(0, []byte(input[at:min(at+size, len(input))]))
+	left := handOn(m, Whole(inputs...), size, func(outs []api.Out, e api.Errno) {
 		if e != api.OK {
-			t.Fatalf("%+v, input %q, behind byte %d: error %d", p, input, at, e)
+			t.Fatalf("%+v, inputs %q, behind %q: error %d", p, inputs, text, e)
 		}
 		text += Text(outs)
+	})
+	for _, in := range left {
+		if in != (Input{}) || m.Need() != api.Ended {
+			t.Fatalf("%+v, inputs %q: Need %d; not read: %v", p, inputs, m.Need(), left)
+		}
 	}
-	outs, e := m.End(0)
-	if e != api.OK || m.Need() != api.Ended {
-		t.Fatalf("%+v, the end of input %q: error %d, Need %d", p, input, e, m.Need())
-	}
-	return text + Text(outs)
+	return text
 }
 
 // Take hands a machine a chunk, and holds what comes of it, and how many bytes are held
@@ -49,14 +51,20 @@ func Take(t Test, m api.Machine, chunk, out string, held int) {
 // last is the same.
 func (s Subject) HoldChunks(t Test, p api.Params, input string) {
 	t.Helper()
-	want := s.Run(t, p, input, 1)
+	s.HoldChunksOf(t, p, Whole(input))
+}
+
+// HoldChunksOf runs a machine of such inputs, likewise.
+func (s Subject) HoldChunksOf(t Test, p api.Params, ins []Input) {
+	t.Helper()
+	want := s.RunOf(t, p, ins, 1)
 	ways := [][]int{{1, 32, 2, 31, 3, 17}, {32, 32, 1}, {32, 1}, {1, 2, 3}, {5, 9, 2, 30}}
 	for size := 2; size <= api.MaxChunk; size++ {
 		ways = append(ways, []int{size})
 	}
 	for _, sizes := range ways {
-		if got := s.Run(t, p, input, sizes...); got != want {
-			t.Fatalf("%+v, input %q by chunks of %v: %+v; of 1: %+v", p, input, sizes, got, want)
+		if got := s.RunOf(t, p, ins, sizes...); got != want {
+			t.Fatalf("%+v, inputs %v by chunks of %v: %+v; of 1: %+v", p, ins, sizes, got, want)
 		}
 	}
 }
@@ -65,10 +73,16 @@ func (s Subject) HoldChunks(t Test, p api.Params, input string) {
 // that what goes on behind them shows that they change nothing.
 func (s Subject) HoldRefusals(t Test, p api.Params, input string) {
 	t.Helper()
+	s.HoldRefusalsOf(t, p, Whole(input))
+}
+
+// HoldRefusalsOf runs a machine of such inputs, likewise.
+func (s Subject) HoldRefusalsOf(t Test, p api.Params, ins []Input) {
+	t.Helper()
 	for _, size := range []int{1, 2, 3, 7, 32} {
 		d := s.Drive(t, p)
 		d.Pesters = true
-		d.Run(input, size)
+		d.RunOf(ins, size)
 	}
 }
 
@@ -76,26 +90,18 @@ func (s Subject) HoldRefusals(t Test, p api.Params, input string) {
 // what is answered: in the end that is what it was when it came.
 func (s Subject) HoldAnswers(t Test, p api.Params, input string, size int) {
 	t.Helper()
-	m := s.Make(t, p)
+	s.HoldAnswersOf(t, p, Whole(input), size)
+}
+
+// HoldAnswersOf hands a machine such inputs, likewise.
+func (s Subject) HoldAnswersOf(t Test, p api.Params, ins []Input, size int) {
+	t.Helper()
 	var kept [][]api.Out
 	var came []string
-	keep := func(outs []api.Out, _ api.Errno) {
+	handOn(s.Make(t, p), ins, size, func(outs []api.Out, _ api.Errno) {
 		kept = append(kept, outs)
 		came = append(came, Text(outs))
-	}
-	chunk := make([]byte, size)
-	for ended := false; m.Need() != api.Ended && !ended; {
-		n := copy(chunk, input)
-		input = input[n:]
-		if ended = n == 0; ended {
-			keep(m.End(0))
-		} else {
-			keep(m.Feed(0, chunk[:n]))
-		}
-		for m.Need() == api.More {
-			keep(m.More())
-		}
-	}
+	})
 	for i, outs := range kept {
 		if now := Text(outs); now != came[i] {
 			t.Fatalf("%+v: answer %d was %q, and is %q now", p, i, came[i], now)
@@ -103,21 +109,11 @@ func (s Subject) HoldAnswers(t Test, p api.Params, input string, size int) {
 	}
 }
 
-// HoldGrowth drives machines with each beginning of an input, and does not tell its
-// end: what came of one byte less is a beginning of what comes.
+// HoldGrowth runs machines by each beginning of an input, and by all of it and its end:
+// what came of a step less is a beginning of what comes.
 func (s Subject) HoldGrowth(t Test, p api.Params, input string) {
 	t.Helper()
-	before := s.Drive(t, p).Seen
-	for upTo := 1; upTo <= len(input); upTo++ {
-		d := s.Drive(t, p)
-		for at := 0; at < upTo && d.Seen.Need == 0; at += 16 {
-			d.Feed(input[at:min(at+16, upTo)])
-		}
-		if !strings.HasPrefix(d.Seen.Out, before.Out) || before.Need == api.Ended && d.Seen != before {
-			t.Fatalf("%+v, input %q: %+v; one byte less: %+v", p, input[:upTo], d.Seen, before)
-		}
-		before = d.Seen
-	}
+	s.HoldGrowthOf(t, p, Whole(input))
 }
 
 // Sizes makes sizes of chunks of any bytes, one at least.

@@ -24,28 +24,29 @@ func (d *Driver) pester() {
 func (d *Driver) Pester() {
 	d.test.Helper()
 	need, want := d.Seen.Need, api.ErrArg
-	ports := []int{1, 2, -1, -2, -3, 1 << 40, -1 << 63}
-	if need != 0 {
-		ports = append(ports, 0)
-	}
 	if need == api.Ended {
 		want = api.ErrDone
 	}
-	chunks := append(badChunks(), []byte("p"), []byte("q\n"))
-	for _, port := range ports {
-		for _, b := range chunks {
-			outs, e := d.feed(port, b)
-			d.refused(outs, e, want)
+	for _, port := range []int{0, 1, 2, 3, 4, 5, -1, -2, -3, 1 << 40, -1 << 63} {
+		if port >= 0 && port == need {
+			d.pesterBy(port, want, badChunks())
+			continue
 		}
+		d.pesterBy(port, want, append(badChunks(), []byte("p"), []byte("q\n")))
 		outs, e := d.Machine.End(port)
-		d.refused(outs, e, want)
-	}
-	for _, b := range badChunks() {
-		outs, e := d.feed(0, b)
 		d.refused(outs, e, want)
 	}
 	if need != api.More {
 		outs, e := d.Machine.More()
+		d.refused(outs, e, want)
+	}
+}
+
+// pesterBy feeds a port such bytes, all of which are to be refused.
+func (d *Driver) pesterBy(port int, want api.Errno, chunks [][]byte) {
+	d.test.Helper()
+	for _, b := range chunks {
+		outs, e := d.feed(port, b)
 		d.refused(outs, e, want)
 	}
 }
@@ -96,15 +97,18 @@ func undueEnd(name string, port int) Call {
 }
 
 // HoldChunkLimits hands machines that read a chunk of one byte more than there may be,
-// and then one of as many.
+// and then one of as many, by each of their inputs.
 func (s Subject) HoldChunkLimits(t Test, params ...api.Params) {
 	t.Helper()
+	full := Word(31) + "\n"
 	for _, p := range params {
-		d := s.Drive(t, p)
-		full := Word(31) + "\n"
-		outs, e := d.feed(0, []byte(full+"\n"))
-		d.refused(outs, e, api.ErrArg)
-		d.Feed(full)
+		for d := s.Drive(t, p); d.Seen.Need >= 0; {
+			outs, e := d.feed(d.Seen.Need, []byte(full+"\n"))
+			d.refused(outs, e, api.ErrArg)
+			if d.Feed(full); d.Seen.Need >= 0 {
+				d.End()
+			}
+		}
 	}
 }
 

@@ -1,6 +1,6 @@
-// Package rig is for the tests of machines that have one input and one output: it
-// hands a machine what it asks for, and holds what is seen of it at each step against
-// the denotation. No layer calls it.
+// Package rig is for the tests of machines that have one output: it hands a machine
+// what it asks for, and holds what is seen of it at each step against the denotation.
+// No layer calls it.
 package rig
 
 import (
@@ -17,12 +17,6 @@ type Test interface {
 	Fatalf(format string, args ...any)
 }
 
-// Input is what a machine's input has told.
-type Input struct {
-	Text  string
-	Ended bool
-}
-
 // Seen is what is seen of a machine: all that came out, what it asks for, the error by
 // which it failed, and how many bytes it holds.
 type Seen struct {
@@ -33,10 +27,10 @@ type Seen struct {
 }
 
 // Subject is machines of one kind: how they are made, and what is to be seen of one
-// that has heard so much of its input, and has no more pieces to tell.
+// that has heard so much of its inputs, and has no more pieces to tell.
 type Subject struct {
 	New    func(p api.Params) (api.Machine, api.Errno)
-	Reckon func(p api.Params, in Input) Seen
+	Reckon func(p api.Params, ins []Input) Seen
 }
 
 // Driver drives one machine. Seen is what was seen by the last step, Answers are all
@@ -53,7 +47,7 @@ type Driver struct {
 	test    Test
 	subject Subject
 	p       api.Params
-	in      Input
+	ins     []Input
 }
 
 // Make makes a machine that must be one. The parameters' bytes are lent to New.
@@ -73,9 +67,10 @@ func (s Subject) Make(t Test, p api.Params) api.Machine {
 // Drive makes a machine, and its driver.
 func (s Subject) Drive(t Test, p api.Params) *Driver {
 	t.Helper()
-	d := &Driver{Machine: s.Make(t, p), test: t, subject: s, p: p}
+	count, _, _ := params.Arity(p)
+	d := &Driver{Machine: s.Make(t, p), test: t, subject: s, p: p, ins: make([]Input, count)}
 	d.note(nil, api.OK)
-	d.compare()
+	d.compare(d.ins)
 	return d
 }
 
@@ -83,32 +78,35 @@ func (s Subject) Drive(t Test, p api.Params) *Driver {
 // asks for it, and answers what was seen at last.
 func (s Subject) Run(t Test, p api.Params, input string, sizes ...int) Seen {
 	t.Helper()
-	return s.Drive(t, p).Run(input, sizes...)
+	return s.RunOf(t, p, Whole(input), sizes...)
 }
 
 // Run hands on a whole input, likewise.
 func (d *Driver) Run(input string, sizes ...int) Seen {
 	d.test.Helper()
-	for k := 0; d.Seen.Need == 0 && input != ""; k++ {
-		size := min(sizes[k%len(sizes)], len(input))
-		d.Feed(input[:size])
-		input = input[size:]
-	}
-	if d.Seen.Need == 0 {
-		d.End()
-	}
-	d.pester()
-	return d.Seen
+	return d.RunOf(Whole(input), sizes...)
 }
 
-// Feed hands on a chunk, and asks for the pieces that are due by it.
+// Feed hands on a chunk of the input that is asked for, and asks for the pieces that
+// are due by it.
 func (d *Driver) Feed(chunk string) {
 	d.test.Helper()
 	d.pester()
-	outs, e := d.feed(0, []byte(chunk))
-	d.in.Text += chunk
+	port := d.port()
+	outs, e := d.feed(port, []byte(chunk))
+	d.ins[port].Text += chunk
 	d.note(outs, e)
 	d.takePieces()
+}
+
+// port is the input that is asked for: it must be one, and not have ended.
+func (d *Driver) port() int {
+	d.test.Helper()
+	need := d.Seen.Need
+	if need < 0 || need >= len(d.ins) || d.ins[need].Ended {
+		d.wrong("Need is %d, while there is more to hand on", need)
+	}
+	return need
 }
 
 // feed lends a chunk to the machine.
@@ -122,12 +120,14 @@ func (d *Driver) feed(port int, chunk []byte) ([]api.Out, api.Errno) {
 	return outs, e
 }
 
-// End tells that the input has ended, and asks for the pieces that are due by that.
+// End tells that the input that is asked for has ended, and asks for the pieces that
+// are due by that.
 func (d *Driver) End() {
 	d.test.Helper()
 	d.pester()
-	d.in.Ended = true
-	d.note(d.Machine.End(0))
+	port := d.port()
+	d.ins[port].Ended = true
+	d.note(d.Machine.End(port))
 	d.takePieces()
 }
 
@@ -142,18 +142,18 @@ func (d *Driver) takePieces() {
 		if d.Seen.Out == before && d.Seen.Err == api.OK {
 			d.wrong("a piece without bytes")
 		}
-		if want := d.subject.Reckon(d.p, d.in).Out; !strings.HasPrefix(want, d.Seen.Out) {
+		if want := d.subject.Reckon(d.p, d.ins).Out; !strings.HasPrefix(want, d.Seen.Out) {
 			d.wrong("%q came out by a piece; want a beginning of %q", d.Seen.Out, want)
 		}
 	}
-	d.compare()
+	d.compare(d.ins)
 }
 
-// compare holds what was seen against the denotation. What one that has failed holds
-// is left to it, within its bound.
-func (d *Driver) compare() {
+// compare holds what was seen against the denotation of what inputs have told. What one
+// that has failed holds is left to it, within its bound.
+func (d *Driver) compare(ins []Input) {
 	d.test.Helper()
-	want := d.subject.Reckon(d.p, d.in)
+	want := d.subject.Reckon(d.p, ins)
 	if want.Err != api.OK {
 		want.Held = d.Seen.Held
 	}
@@ -190,8 +190,8 @@ func (d *Driver) note(outs []api.Out, e api.Errno) {
 // wrong ends the test, and tells by what.
 func (d *Driver) wrong(format string, args ...any) {
 	d.test.Helper()
-	at := []any{d.p, d.in.Text, d.in.Ended}
-	d.test.Fatalf("%+v, input %q (ended: %v): "+format, append(at, args...)...)
+	at := []any{d.p, d.ins}
+	d.test.Fatalf("%+v, inputs %v: "+format, append(at, args...)...)
 }
 
 // behind stands in memory behind bytes that are lent.

@@ -9,7 +9,7 @@ import (
 )
 
 // turns are what is tested, held against reckon.
-var turns = rig.Subject{New: New, Reckon: reckon}
+var turns = rig.Subject{New: New, Reckon: rig.OfOne(reckon)}
 
 // of makes the parameters of a turn.
 func of(a, b string) api.Params {

@@ -11,7 +11,7 @@ import (
 )
 
 // uniqs are what is tested, held against reckon.
-var uniqs = rig.Subject{New: New, Reckon: reckon}
+var uniqs = rig.Subject{New: New, Reckon: rig.OfOne(reckon)}
 
 // of makes the parameters of a uniq.
 func of(n int) api.Params {

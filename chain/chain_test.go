@@ -347,31 +347,12 @@ func TestRefusalsChangeNothing(t *testing.T) {
 	}
 }
 
-// undue are calls that are refused by a chain of n inputs that reads this one.
-func undue(n, port int) []rig.Call {
-	var calls []rig.Call
-	for _, other := range []int{0, 1, 2, 3, 4, n, -1, -2, -3, 256, 1 << 32, 1<<32 + port, -1 << 63, 1<<63 - 1} {
-		if other != port {
-			calls = append(calls, feed(other, []byte("y\n")), rig.Call{Name: "End", Make: func(m api.Machine) ([]api.Out, api.Errno) { return m.End(other) }})
-		}
-	}
-	for _, b := range [][]byte{nil, {}, make([]byte, 33), make([]byte, 64), make([]byte, 100000)} {
-		calls = append(calls, feed(port, b))
-	}
-	return append(calls, rig.Call{Name: "More", Make: api.Machine.More})
-}
-
-// feed is a Feed of such bytes.
-func feed(port int, b []byte) rig.Call {
-	return rig.Call{Name: "Feed", Make: func(m api.Machine) ([]api.Out, api.Errno) { return m.Feed(port, b) }}
-}
-
 // P12.4: one by one, while each input is read: those that have ended, those that come
 // later, such as there are not; chunks of no bytes, and of too many; More
 func TestEachUndueCallIsRefused(t *testing.T) {
 	for n := 1; n <= api.MaxPorts; n++ {
 		for port := range n {
-			for k, call := range undue(n, port) {
+			for k, call := range rig.UndueCallsOf(port) {
 				m := ready(t, n, port)
 				for range 2 {
 					if outs, e := call.Make(m); outs != nil || e != api.ErrArg || m.Need() != port || m.Held() != 0 {
@@ -401,9 +382,9 @@ func holdDone(t *testing.T, m api.Machine, call rig.Call) {
 func TestBehindTheEndAllIsRefused(t *testing.T) {
 	for n := 1; n <= api.MaxPorts; n++ {
 		m := ready(t, n, n)
-		calls := undue(n, -4)
+		calls := rig.UndueCallsOf(-4)
 		for range 2 {
-			for _, call := range append(calls, feed(n-1, []byte("a")), feed(0, []byte(rig.Word(32)))) {
+			for _, call := range append(calls, rig.FeedOf(n-1, []byte("a")), rig.FeedOf(0, []byte(rig.Word(32)))) {
 				holdDone(t, m, call)
 			}
 		}

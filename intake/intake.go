@@ -21,8 +21,11 @@ func Check(p api.Params, kind int) api.Errno {
 	return api.OK
 }
 
-// Tell makes an answer of lines, each with its end, for one output.
+// Tell makes an answer of lines, each with its end, for one output: of no lines, none.
 func Tell(port int, lines ...string) []api.Out {
+	if len(lines) == 0 {
+		return nil
+	}
 	return []api.Out{{Port: port, Bytes: line.Join(lines...)}}
 }
 

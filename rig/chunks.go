@@ -48,7 +48,7 @@ func Take(t Test, m api.Machine, chunk, out string, held int) {
 }
 
 // HoldChunks runs a machine by chunks of every size, and of several: what is seen at
-// last is the same.
+// last is the same, but for what it holds of chunks that it has read ahead.
 func (s Subject) HoldChunks(t Test, p api.Params, input string) {
 	t.Helper()
 	s.HoldChunksOf(t, p, Whole(input))
@@ -63,7 +63,9 @@ func (s Subject) HoldChunksOf(t Test, p api.Params, ins []Input) {
 		ways = append(ways, []int{size})
 	}
 	for _, sizes := range ways {
-		if got := s.RunOf(t, p, ins, sizes...); got != want {
+		got := s.RunOf(t, p, ins, sizes...)
+		got.Held = want.Held
+		if got != want {
 			t.Fatalf("%+v, inputs %v by chunks of %v: %+v; of 1: %+v", p, ins, sizes, got, want)
 		}
 	}

@@ -39,12 +39,12 @@ func OfOne(reckon func(p api.Params, in Input) Seen) func(p api.Params, ins []In
 
 // RunOf hands a machine what inputs tell, in chunks whose sizes come by turns, till it
 // has ended, or asks for what has not been told, and answers what was seen at last. What
-// it did not ask for plays no part in that.
+// it did not ask for plays no part in that, but that it is not held.
 func (s Subject) RunOf(t Test, p api.Params, ins []Input, sizes ...int) Seen {
 	t.Helper()
 	d := s.Drive(t, p)
 	d.RunOf(ins, sizes...)
-	d.compare(ins)
+	d.compareButHeld(ins)
 	return d.Seen
 }
 

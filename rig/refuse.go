@@ -96,6 +96,27 @@ func undueEnd(name string, port int) Call {
 	return Call{name, func(m api.Machine) ([]api.Out, api.Errno) { return m.End(port) }}
 }
 
+// UndueCallsOf are calls that are refused by any machine that reads this input, and by
+// one that has ended: by another port, one that there is or not, of a chunk that is none,
+// and More.
+func UndueCallsOf(port int) []Call {
+	calls := []Call{{"More", api.Machine.More}}
+	for _, other := range []int{0, 1, 2, 3, 4, 5, -1, -2, -3, 256, 1 << 32, 1<<32 + port, -1 << 63, 1<<63 - 1} {
+		if other != port {
+			calls = append(calls, FeedOf(other, []byte("y\n")), undueEnd("End", other))
+		}
+	}
+	for _, b := range [][]byte{nil, {}, make([]byte, 33), make([]byte, 64), make([]byte, 100000)} {
+		calls = append(calls, FeedOf(port, b))
+	}
+	return calls
+}
+
+// FeedOf is a Feed of such bytes, by this port.
+func FeedOf(port int, b []byte) Call {
+	return Call{"Feed", func(m api.Machine) ([]api.Out, api.Errno) { return m.Feed(port, b) }}
+}
+
 // HoldChunkLimits hands machines that read a chunk of one byte more than there may be,
 // and then one of as many, by each of their inputs.
 func (s Subject) HoldChunkLimits(t Test, params ...api.Params) {

@@ -70,7 +70,7 @@ func (s Subject) Drive(t Test, p api.Params) *Driver {
 	count, _, _ := params.Arity(p)
 	d := &Driver{Machine: s.Make(t, p), test: t, subject: s, p: p, ins: make([]Input, count)}
 	d.note(nil, api.OK)
-	d.compare(d.ins)
+	d.compare()
 	return d
 }
 
@@ -146,17 +146,32 @@ func (d *Driver) takePieces() {
 			d.wrong("%q came out by a piece; want a beginning of %q", d.Seen.Out, want)
 		}
 	}
-	d.compare(d.ins)
+	d.compare()
 }
 
-// compare holds what was seen against the denotation of what inputs have told. What one
-// that has failed holds is left to it, within its bound.
-func (d *Driver) compare(ins []Input) {
+// compare holds what was seen against the denotation of what was handed in. What one that
+// has failed holds is left to it, within its bound.
+func (d *Driver) compare() {
 	d.test.Helper()
-	want := d.subject.Reckon(d.p, ins)
+	want := d.subject.Reckon(d.p, d.ins)
 	if want.Err != api.OK {
 		want.Held = d.Seen.Held
 	}
+	d.seenIs(want)
+}
+
+// compareButHeld holds what was seen, but for what is held, against the denotation of
+// what inputs tell, of which some may not have been handed in.
+func (d *Driver) compareButHeld(ins []Input) {
+	d.test.Helper()
+	want := d.subject.Reckon(d.p, ins)
+	want.Held = d.Seen.Held
+	d.seenIs(want)
+}
+
+// seenIs holds what was seen against what was to be.
+func (d *Driver) seenIs(want Seen) {
+	d.test.Helper()
 	if d.Seen != want {
 		d.wrong("%+v; want %+v", d.Seen, want)
 	}

@@ -53,20 +53,6 @@ func lists() [][]string {
 	}
 }
 
-// endings are the ways in which some of these inputs have ended, and others have not:
-// one that has failed is one that has not ended, and of which no more comes.
-func endings(texts []string) [][]rig.Input {
-	var all [][]rig.Input
-	for ended := range 1 << len(texts) {
-		ins := rig.Whole(texts...)
-		for i := range ins {
-			ins[i].Ended = ended>>i&1 == 1
-		}
-		all = append(all, ins)
-	}
-	return all
-}
-
 // ready answers a chain of n inputs of which the first ones, up to this one, have
 // told a byte each, and have ended.
 func ready(t *testing.T, n, port int) api.Machine {
@@ -149,7 +135,7 @@ func TestTheChaptersExample(t *testing.T) {
 // P12.2, at each step; P12.3 and P12.5, too, and P12.4's memory
 func TestTheDenotationComesByAllChunks(t *testing.T) {
 	for _, texts := range lists() {
-		for _, ins := range endings(texts) {
+		for _, ins := range rig.Endings(texts...) {
 			chains.HoldChunksOf(t, of(len(ins)), ins)
 		}
 	}
@@ -200,32 +186,30 @@ func TestWhatComesOfSomeInputs(t *testing.T) {
 
 // P12.2: of an input that has not ended, or has failed, and of what others told already
 func TestAnInputThatHasNotEndedStopsWhatComes(t *testing.T) {
-	whole := func(text string) rig.Input { return rig.Input{Text: text, Ended: true} }
-	begun := func(text string) rig.Input { return rig.Input{Text: text} }
 	for _, c := range []struct {
 		ins  []rig.Input
 		seen rig.Seen
 	}{
-		{[]rig.Input{begun("")}, rig.Seen{}},
-		{[]rig.Input{begun("a\nb")}, rig.Seen{Out: "a\nb"}},
-		{[]rig.Input{begun(""), begun("")}, rig.Seen{}},
-		{[]rig.Input{begun(""), whole("bc")}, rig.Seen{}},
-		{[]rig.Input{begun("a"), whole("bc")}, rig.Seen{Out: "a"}},
-		{[]rig.Input{begun("a\n"), begun("bc")}, rig.Seen{Out: "a\n"}},
-		{[]rig.Input{whole("a"), begun("bc")}, rig.Seen{Out: "abc", Need: 1}},
-		{[]rig.Input{whole(""), begun("")}, rig.Seen{Need: 1}},
-		{[]rig.Input{whole("a"), begun("")}, rig.Seen{Out: "a", Need: 1}},
-		{[]rig.Input{begun("a"), whole("b"), whole("c")}, rig.Seen{Out: "a"}},
-		{[]rig.Input{whole("a"), begun("b"), whole("c")}, rig.Seen{Out: "ab", Need: 1}},
-		{[]rig.Input{whole("a"), begun(""), whole("c")}, rig.Seen{Out: "a", Need: 1}},
-		{[]rig.Input{whole("a"), begun(""), begun("c")}, rig.Seen{Out: "a", Need: 1}},
-		{[]rig.Input{whole("a"), whole("b"), begun("c")}, rig.Seen{Out: "abc", Need: 2}},
-		{[]rig.Input{whole(""), whole(""), begun("")}, rig.Seen{Need: 2}},
-		{[]rig.Input{begun("a"), whole("b"), whole("c"), whole("d")}, rig.Seen{Out: "a"}},
-		{[]rig.Input{whole("a"), begun("b"), whole("c"), whole("d")}, rig.Seen{Out: "ab", Need: 1}},
-		{[]rig.Input{whole("a"), whole("b"), begun("c"), whole("d")}, rig.Seen{Out: "abc", Need: 2}},
-		{[]rig.Input{whole("a"), whole("b"), whole("c"), begun("d")}, rig.Seen{Out: "abcd", Need: 3}},
-		{[]rig.Input{whole(""), whole(""), whole(""), begun("")}, rig.Seen{Need: 3}},
+		{[]rig.Input{rig.Begun("")}, rig.Seen{}},
+		{[]rig.Input{rig.Begun("a\nb")}, rig.Seen{Out: "a\nb"}},
+		{[]rig.Input{rig.Begun(""), rig.Begun("")}, rig.Seen{}},
+		{[]rig.Input{rig.Begun(""), rig.Ended("bc")}, rig.Seen{}},
+		{[]rig.Input{rig.Begun("a"), rig.Ended("bc")}, rig.Seen{Out: "a"}},
+		{[]rig.Input{rig.Begun("a\n"), rig.Begun("bc")}, rig.Seen{Out: "a\n"}},
+		{[]rig.Input{rig.Ended("a"), rig.Begun("bc")}, rig.Seen{Out: "abc", Need: 1}},
+		{[]rig.Input{rig.Ended(""), rig.Begun("")}, rig.Seen{Need: 1}},
+		{[]rig.Input{rig.Ended("a"), rig.Begun("")}, rig.Seen{Out: "a", Need: 1}},
+		{[]rig.Input{rig.Begun("a"), rig.Ended("b"), rig.Ended("c")}, rig.Seen{Out: "a"}},
+		{[]rig.Input{rig.Ended("a"), rig.Begun("b"), rig.Ended("c")}, rig.Seen{Out: "ab", Need: 1}},
+		{[]rig.Input{rig.Ended("a"), rig.Begun(""), rig.Ended("c")}, rig.Seen{Out: "a", Need: 1}},
+		{[]rig.Input{rig.Ended("a"), rig.Begun(""), rig.Begun("c")}, rig.Seen{Out: "a", Need: 1}},
+		{[]rig.Input{rig.Ended("a"), rig.Ended("b"), rig.Begun("c")}, rig.Seen{Out: "abc", Need: 2}},
+		{[]rig.Input{rig.Ended(""), rig.Ended(""), rig.Begun("")}, rig.Seen{Need: 2}},
+		{[]rig.Input{rig.Begun("a"), rig.Ended("b"), rig.Ended("c"), rig.Ended("d")}, rig.Seen{Out: "a"}},
+		{[]rig.Input{rig.Ended("a"), rig.Begun("b"), rig.Ended("c"), rig.Ended("d")}, rig.Seen{Out: "ab", Need: 1}},
+		{[]rig.Input{rig.Ended("a"), rig.Ended("b"), rig.Begun("c"), rig.Ended("d")}, rig.Seen{Out: "abc", Need: 2}},
+		{[]rig.Input{rig.Ended("a"), rig.Ended("b"), rig.Ended("c"), rig.Begun("d")}, rig.Seen{Out: "abcd", Need: 3}},
+		{[]rig.Input{rig.Ended(""), rig.Ended(""), rig.Ended(""), rig.Begun("")}, rig.Seen{Need: 3}},
 	} {
 		for _, size := range []int{1, 2, 32} {
 			if seen := chains.RunOf(t, of(len(c.ins)), c.ins, size); seen != c.seen {
@@ -339,7 +323,7 @@ func TestChunksOfMaxChunkBytesAreTakenAndNoGreaterOnes(t *testing.T) {
 // P12.4: ahead of each step, and behind the last one
 func TestRefusalsChangeNothing(t *testing.T) {
 	for _, texts := range lists() {
-		for _, ins := range endings(texts) {
+		for _, ins := range rig.Endings(texts...) {
 			if len(texts) < 4 || !slices.Contains(texts, "") {
 				chains.HoldRefusalsOf(t, of(len(ins)), ins)
 			}
@@ -364,17 +348,9 @@ func TestEachUndueCallIsRefused(t *testing.T) {
 				for i := port; i < n; i++ {
 					end(t, m, i)
 				}
-				holdDone(t, m, call)
+				rig.HoldDone(t, m, call)
 			}
 		}
-	}
-}
-
-// holdDone holds a call of a chain that has ended against its refusal.
-func holdDone(t *testing.T, m api.Machine, call rig.Call) {
-	t.Helper()
-	if outs, e := call.Make(m); outs != nil || e != api.ErrDone || m.Need() != api.Ended || m.Held() != 0 {
-		t.Errorf("%s behind the end: %+v, %v, Need %d, Held %d; want ErrDone", call.Name, outs, e, m.Need(), m.Held())
 	}
 }
 
@@ -385,7 +361,7 @@ func TestBehindTheEndAllIsRefused(t *testing.T) {
 		calls := rig.UndueCallsOf(-4)
 		for range 2 {
 			for _, call := range append(calls, rig.FeedOf(n-1, []byte("a")), rig.FeedOf(0, []byte(rig.Word(32)))) {
-				holdDone(t, m, call)
+				rig.HoldDone(t, m, call)
 			}
 		}
 	}
@@ -459,16 +435,7 @@ func TestAnswersShareNothing(t *testing.T) {
 		}
 		end(t, m, port)
 	}
-	for i := range kept {
-		before := rig.Text(slices.Concat(kept[:i], kept[i+1:]))
-		memory := kept[i].Bytes[:cap(kept[i].Bytes)]
-		for at := range memory {
-			memory[at] = '!'
-		}
-		if now := rig.Text(slices.Concat(kept[:i], kept[i+1:])); now != before {
-			t.Errorf("the others were %q, and are %q now", before, now)
-		}
-	}
+	rig.HoldApart(t, kept...)
 }
 
 // P12.5: each input by chunks of a size of its own
@@ -492,7 +459,7 @@ func TestEachInputComesByChunksOfItsOwn(t *testing.T) {
 // P12.6: of the input that is read, and of others, too
 func TestMoreOfInputsGoesOnFromWhatCame(t *testing.T) {
 	for _, texts := range lists() {
-		for _, ins := range endings(texts) {
+		for _, ins := range rig.Endings(texts...) {
 			if ended := ins[0].Ended; ended || len(ins) < 3 {
 				chains.HoldGrowthOf(t, of(len(ins)), ins)
 			}

@@ -39,10 +39,11 @@ func TellBytes(port int, b ...byte) []api.Out {
 
 // Reader is what reads one input at a time. A zero one reads input 0, till it is made
 // to read another one, or is stopped. A machine that has pieces to tell sets Piece,
-// which tells the next one; with the last one it stops the reader.
+// which tells the next one; with the last one it makes the reader read on, or stops it,
+// and so it does by an error.
 type Reader struct {
 	need  int
-	Piece func() []api.Out
+	Piece func() ([]api.Out, api.Errno)
 }
 
 // Need tells the input that is read next, api.More while pieces are due, or
@@ -55,7 +56,7 @@ func (r *Reader) Read(port int) { r.need = port }
 // Stop makes it ask for nothing any more: it has ended, or failed.
 func (r *Reader) Stop() { r.need = api.Ended }
 
-// TellPieces makes it ask for pieces, till it is stopped.
+// TellPieces makes it ask for pieces, till it is stopped, or made to read on.
 func (r *Reader) TellPieces() { r.need = api.More }
 
 // More tells the next piece, if one is due.
@@ -64,7 +65,7 @@ func (r *Reader) More() ([]api.Out, api.Errno) {
 	case api.Ended:
 		return nil, api.ErrDone
 	case api.More:
-		return r.Piece(), api.OK
+		return r.Piece()
 	}
 	return nil, api.ErrArg
 }

@@ -28,16 +28,23 @@ func (q *Queue) Close() {
 	}
 }
 
-// Take answers the first line that waits, which waits no more, if there is one. Its cell
-// is emptied: the slice moves on, but what is behind it is still in memory.
-func (q *Queue) Take() (string, bool) {
+// First answers the first line that waits, if there is one.
+func (q *Queue) First() (string, bool) {
 	if len(q.waiting) == 0 {
 		return "", false
 	}
-	first := q.waiting[0]
-	q.waiting[0] = ""
-	q.waiting = q.waiting[1:]
-	return first, true
+	return q.waiting[0], true
+}
+
+// Take answers that line, which waits no more. Its cell is emptied: the slice moves on,
+// but what is behind it is still in memory.
+func (q *Queue) Take() (string, bool) {
+	first, ok := q.First()
+	if ok {
+		q.waiting[0] = ""
+		q.waiting = q.waiting[1:]
+	}
+	return first, ok
 }
 
 // Over tells whether no line waits, nor will any.
@@ -54,12 +61,14 @@ func (q *Queue) Held() int {
 
 // Queues is what machines have in common that take lines of several inputs: a reader
 // whose chunks go to the queue of their input, which Of tells. Next is what comes of the
-// lines that wait: it reads the input of which it wants one that has not come, or stops
-// the reader.
+// lines that wait: it reads the input of which it wants one that has not come, or tells
+// pieces, or stops; by an error it has stopped. What is held then will never be told:
+// GiveUp gives it up.
 type Queues struct {
 	Reader
-	Of   func(port int) *Queue
-	Next func() []api.Out
+	Of     func(port int) *Queue
+	Next   func() ([]api.Out, api.Errno)
+	GiveUp func()
 }
 
 // Feed takes a chunk. A line is read only while it is wanted, and a chunk has fewer
@@ -73,7 +82,7 @@ func (r *Queues) Feed(port int, b []byte) ([]api.Out, api.Errno) {
 		r.Stop()
 		return nil, e
 	}
-	return r.Next(), api.OK
+	return r.Next()
 }
 
 // End takes an input's end.
@@ -82,5 +91,11 @@ func (r *Queues) End(port int) ([]api.Out, api.Errno) {
 		return nil, e
 	}
 	r.Of(port).Close()
-	return r.Next(), api.OK
+	return r.Next()
+}
+
+// Stop makes it ask for nothing any more, and gives up what is held.
+func (r *Queues) Stop() {
+	r.Reader.Stop()
+	r.GiveUp()
 }

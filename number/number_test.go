@@ -474,7 +474,7 @@ func TestWhatIsRefusedIsNotNumbered(t *testing.T) {
 		if outs, e := m.End(0); rig.Text(outs) != "13 d\n" || e != api.OK {
 			t.Errorf("%s, ahead of the end: %+v, %v; want 13 d", call.Name, outs, e)
 		}
-		holdDone(t, m, call)
+		rig.HoldDone(t, m, call)
 	}
 }
 
@@ -494,16 +494,8 @@ func TestBehindTheEndNothingIsTold(t *testing.T) {
 			rig.Call{Name: "Feed of a byte", Make: func(m api.Machine) ([]api.Out, api.Errno) { return m.Feed(0, []byte("a")) }},
 		)
 		for _, call := range append(calls, calls...) {
-			holdDone(t, m, call)
+			rig.HoldDone(t, m, call)
 		}
-	}
-}
-
-// holdDone holds a call of a machine that has ended, or failed, against its refusal.
-func holdDone(t *testing.T, m api.Machine, call rig.Call) {
-	t.Helper()
-	if outs, e := call.Make(m); outs != nil || e != api.ErrDone || m.Need() != api.Ended || m.Held() != 0 {
-		t.Errorf("%s, behind the end: %+v, %v, Need %d, Held %d; want ErrDone", call.Name, outs, e, m.Need(), m.Held())
 	}
 }
 
@@ -571,16 +563,7 @@ func TestPartsOfAnswersShareNothing(t *testing.T) {
 		outs, _ := m.Feed(0, []byte("a\na\na\na\n"))
 		kept = append(kept, outs...)
 	}
-	for i := range kept {
-		before := rig.Text(slices.Concat(kept[:i], kept[i+1:]))
-		memory := kept[i].Bytes[:cap(kept[i].Bytes)]
-		for at := range memory {
-			memory[at] = '!'
-		}
-		if now := rig.Text(slices.Concat(kept[:i], kept[i+1:])); now != before {
-			t.Errorf("the others were %q, and are %q now", before, now)
-		}
-	}
+	rig.HoldApart(t, kept...)
 	if outs, _ := m.Feed(0, []byte("b\n")); rig.Text(outs) != "21 b\n" {
 		t.Errorf("%+v; want 21 b", outs)
 	}

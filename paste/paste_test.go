@@ -93,53 +93,6 @@ func lists() [][]string {
 	}
 }
 
-// endings are the ways in which some of these inputs have ended, and others have not: one
-// that has failed is one that has not ended, and of which no more comes.
-func endings(texts []string) [][]rig.Input {
-	var all [][]rig.Input
-	for ended := range 1 << len(texts) {
-		ins := rig.Whole(texts...)
-		for i := range ins {
-			ins[i].Ended = ended>>i&1 == 1
-		}
-		all = append(all, ins)
-	}
-	return all
-}
-
-// whole is an input that has ended.
-func whole(text string) rig.Input { return rig.Input{Text: text, Ended: true} }
-
-// begun is an input that has not ended, or has failed.
-func begun(text string) rig.Input { return rig.Input{Text: text} }
-
-// step is a call that is due, and what is to be seen behind it: the chunk "." is the
-// input's end.
-type step struct {
-	chunk string
-	out   string
-	need  int
-	held  int
-}
-
-// holdSteps hands a machine chunks of the inputs that it asks for, and holds what comes
-// of each against what is to come.
-func holdSteps(t *testing.T, m api.Machine, steps ...step) {
-	t.Helper()
-	for k, s := range steps {
-		var outs []api.Out
-		var e api.Errno
-		if s.chunk == "." {
-			outs, e = m.End(m.Need())
-		} else {
-			outs, e = m.Feed(m.Need(), []byte(s.chunk))
-		}
-		if rig.Text(outs) != s.out || e != api.OK || m.Need() != s.need || m.Held() != s.held {
-			t.Fatalf("step %d, %q: %q, %v, Need %d, Held %d; want %+v", k, s.chunk, rig.Text(outs), e, m.Need(), m.Held(), s)
-		}
-	}
-}
-
 // P13.1
 func TestNewMakesAMachineOfPastesAlone(t *testing.T) {
 	for n := 1; n <= api.MaxPorts; n++ {
@@ -194,7 +147,7 @@ func TestTheExamples(t *testing.T) {
 // P13.2, at each step; P13.3 and P13.5, too, and P13.4's memory
 func TestTheDenotationComesByAllChunks(t *testing.T) {
 	for _, texts := range lists() {
-		for _, ins := range endings(texts) {
+		for _, ins := range rig.Endings(texts...) {
 			pastes.HoldChunksOf(t, of(len(ins)), ins)
 		}
 	}
@@ -258,32 +211,32 @@ func TestAnInputThatHasNotEndedStopsWhatComes(t *testing.T) {
 		out  string
 		need int
 	}{
-		{[]rig.Input{begun("")}, "", 0},
-		{[]rig.Input{begun("a")}, "", 0},
-		{[]rig.Input{begun("a\nb")}, "a\n", 0},
-		{[]rig.Input{begun("a\nb\n")}, "a\nb\n", 0},
-		{[]rig.Input{begun(""), whole("x\ny\n")}, "", 0},
-		{[]rig.Input{begun("a"), whole("x\ny\n")}, "", 0},
-		{[]rig.Input{begun("a\n"), whole("x\ny\n")}, "a,x\n", 0},
-		{[]rig.Input{begun("a\nb"), whole("x")}, "a,x\n", 0},
-		{[]rig.Input{begun("a\nb\nc\n"), whole("x\ny\n")}, "a,x\nb,y\nc,\n", 0},
-		{[]rig.Input{whole("a\nb"), begun("")}, "", 1},
-		{[]rig.Input{whole("a\nb"), begun("x")}, "", 1},
-		{[]rig.Input{whole("a\nb"), begun("x\n")}, "a,x\n", 1},
-		{[]rig.Input{whole("a\nb"), begun("x\ny\n")}, "a,x\nb,y\n", 1},
-		{[]rig.Input{whole(""), begun("\n\n")}, ",\n,\n", 1},
-		{[]rig.Input{begun("a\n"), begun("x\n")}, "a,x\n", 0},
-		{[]rig.Input{begun("a\nb\n"), begun("x\ny")}, "a,x\n", 1},
-		{[]rig.Input{begun("a\nb"), whole("x"), whole("1")}, "a,x,1\n", 0},
-		{[]rig.Input{whole("a\nb"), begun("x"), whole("1")}, "", 1},
-		{[]rig.Input{whole("a\nb"), begun("x\n"), whole("1")}, "a,x,1\n", 1},
-		{[]rig.Input{whole("a\nb"), whole("x"), begun("1\n2\n3\n4")}, "a,x,1\nb,,2\n,,3\n", 2},
-		{[]rig.Input{whole("a"), begun("x\n"), begun("")}, "", 2},
-		{[]rig.Input{begun("a"), whole("b"), whole("c"), whole("d")}, "", 0},
-		{[]rig.Input{whole("a"), begun("b\n"), whole("c"), whole("d")}, "a,b,c,d\n", 1},
-		{[]rig.Input{whole("a"), whole("b"), begun("c\n"), whole("d")}, "a,b,c,d\n", 2},
-		{[]rig.Input{whole("a"), whole("b"), whole("c"), begun("d\n")}, "a,b,c,d\n", 3},
-		{[]rig.Input{whole(""), whole(""), whole(""), begun("")}, "", 3},
+		{[]rig.Input{rig.Begun("")}, "", 0},
+		{[]rig.Input{rig.Begun("a")}, "", 0},
+		{[]rig.Input{rig.Begun("a\nb")}, "a\n", 0},
+		{[]rig.Input{rig.Begun("a\nb\n")}, "a\nb\n", 0},
+		{[]rig.Input{rig.Begun(""), rig.Ended("x\ny\n")}, "", 0},
+		{[]rig.Input{rig.Begun("a"), rig.Ended("x\ny\n")}, "", 0},
+		{[]rig.Input{rig.Begun("a\n"), rig.Ended("x\ny\n")}, "a,x\n", 0},
+		{[]rig.Input{rig.Begun("a\nb"), rig.Ended("x")}, "a,x\n", 0},
+		{[]rig.Input{rig.Begun("a\nb\nc\n"), rig.Ended("x\ny\n")}, "a,x\nb,y\nc,\n", 0},
+		{[]rig.Input{rig.Ended("a\nb"), rig.Begun("")}, "", 1},
+		{[]rig.Input{rig.Ended("a\nb"), rig.Begun("x")}, "", 1},
+		{[]rig.Input{rig.Ended("a\nb"), rig.Begun("x\n")}, "a,x\n", 1},
+		{[]rig.Input{rig.Ended("a\nb"), rig.Begun("x\ny\n")}, "a,x\nb,y\n", 1},
+		{[]rig.Input{rig.Ended(""), rig.Begun("\n\n")}, ",\n,\n", 1},
+		{[]rig.Input{rig.Begun("a\n"), rig.Begun("x\n")}, "a,x\n", 0},
+		{[]rig.Input{rig.Begun("a\nb\n"), rig.Begun("x\ny")}, "a,x\n", 1},
+		{[]rig.Input{rig.Begun("a\nb"), rig.Ended("x"), rig.Ended("1")}, "a,x,1\n", 0},
+		{[]rig.Input{rig.Ended("a\nb"), rig.Begun("x"), rig.Ended("1")}, "", 1},
+		{[]rig.Input{rig.Ended("a\nb"), rig.Begun("x\n"), rig.Ended("1")}, "a,x,1\n", 1},
+		{[]rig.Input{rig.Ended("a\nb"), rig.Ended("x"), rig.Begun("1\n2\n3\n4")}, "a,x,1\nb,,2\n,,3\n", 2},
+		{[]rig.Input{rig.Ended("a"), rig.Begun("x\n"), rig.Begun("")}, "", 2},
+		{[]rig.Input{rig.Begun("a"), rig.Ended("b"), rig.Ended("c"), rig.Ended("d")}, "", 0},
+		{[]rig.Input{rig.Ended("a"), rig.Begun("b\n"), rig.Ended("c"), rig.Ended("d")}, "a,b,c,d\n", 1},
+		{[]rig.Input{rig.Ended("a"), rig.Ended("b"), rig.Begun("c\n"), rig.Ended("d")}, "a,b,c,d\n", 2},
+		{[]rig.Input{rig.Ended("a"), rig.Ended("b"), rig.Ended("c"), rig.Begun("d\n")}, "a,b,c,d\n", 3},
+		{[]rig.Input{rig.Ended(""), rig.Ended(""), rig.Ended(""), rig.Begun("")}, "", 3},
 	} {
 		for _, size := range []int{1, 2, 32} {
 			seen := pastes.RunOf(t, of(len(c.ins)), c.ins, size)
@@ -296,38 +249,38 @@ func TestAnInputThatHasNotEndedStopsWhatComes(t *testing.T) {
 
 // P13.2: an input is read only while its field is wanted, and no whole line of it waits
 func TestInputsAreReadAsTheirFieldsAreWanted(t *testing.T) {
-	holdSteps(t, pastes.Make(t, of(2)),
-		step{"a", "", 0, 1}, step{"b\nc", "", 1, 3}, step{"x", "", 1, 4},
-		step{"\n", "ab,x\n", 0, 1}, step{"d", "", 0, 2}, step{"\n", "", 1, 2},
-		step{"y\nz\n\n", "cd,y\n", 0, 1}, step{"e\nf\ng\nh", "e,z\nf,\n", 1, 2},
-		step{".", "g,\n", 0, 1}, step{".", "h,\n", api.Ended, 0})
-	holdSteps(t, pastes.Make(t, of(3)),
-		step{"1\n2\n3\n", "", 1, 3}, step{".", "", 2, 4}, step{"a\nb\nc\nd\n", "1,,a\n2,,b\n3,,c\n", 0, 1},
-		step{"4", "", 0, 2}, step{".", "4,,d\n", 2, 1}, step{"\n", ",,\n", 2, 1}, step{".", "", api.Ended, 0})
-	holdSteps(t, pastes.Make(t, of(4)),
-		step{".", "", 1, 0}, step{"b\n", "", 2, 2}, step{"\n", "", 3, 3}, step{"d\ne\n", ",b,,d\n", 1, 1},
-		step{".", "", 2, 2}, step{".", ",,,e\n", 3, 2}, step{"f", "", 3, 3}, step{".", ",,,f\n", api.Ended, 0})
-	holdSteps(t, pastes.Make(t, of(1)),
-		step{"\n\na", "\n\n", 0, 1}, step{"b\nc\n", "ab\nc\n", 0, 0}, step{".", "", api.Ended, 0})
+	rig.HoldSteps(t, pastes.Make(t, of(2)),
+		rig.Behind("a", "", 0, 1), rig.Behind("b\nc", "", 1, 3), rig.Behind("x", "", 1, 4),
+		rig.Behind("\n", "ab,x\n", 0, 1), rig.Behind("d", "", 0, 2), rig.Behind("\n", "", 1, 2),
+		rig.Behind("y\nz\n\n", "cd,y\n", 0, 1), rig.Behind("e\nf\ng\nh", "e,z\nf,\n", 1, 2),
+		rig.Behind(rig.End, "g,\n", 0, 1), rig.Behind(rig.End, "h,\n", api.Ended, 0))
+	rig.HoldSteps(t, pastes.Make(t, of(3)),
+		rig.Behind("1\n2\n3\n", "", 1, 3), rig.Behind(rig.End, "", 2, 4), rig.Behind("a\nb\nc\nd\n", "1,,a\n2,,b\n3,,c\n", 0, 1),
+		rig.Behind("4", "", 0, 2), rig.Behind(rig.End, "4,,d\n", 2, 1), rig.Behind("\n", ",,\n", 2, 1), rig.Behind(rig.End, "", api.Ended, 0))
+	rig.HoldSteps(t, pastes.Make(t, of(4)),
+		rig.Behind(rig.End, "", 1, 0), rig.Behind("b\n", "", 2, 2), rig.Behind("\n", "", 3, 3), rig.Behind("d\ne\n", ",b,,d\n", 1, 1),
+		rig.Behind(rig.End, "", 2, 2), rig.Behind(rig.End, ",,,e\n", 3, 2), rig.Behind("f", "", 3, 3), rig.Behind(rig.End, ",,,f\n", api.Ended, 0))
+	rig.HoldSteps(t, pastes.Make(t, of(1)),
+		rig.Behind("\n\na", "\n\n", 0, 1), rig.Behind("b\nc\n", "ab\nc\n", 0, 0), rig.Behind(rig.End, "", api.Ended, 0))
 }
 
 // P13.2: a line that waits is told before its input is read again
 func TestSeveralLinesInOneChunkWaitTillTheyAreTold(t *testing.T) {
 	m := pastes.Make(t, of(2))
-	holdSteps(t, m, step{strings.Repeat("a\n", 16), "", 1, 16})
+	rig.HoldSteps(t, m, rig.Behind(strings.Repeat("a\n", 16), "", 1, 16))
 	for left := 15; left > 0; left-- {
-		holdSteps(t, m, step{"x", "", 1, left + 2}, step{"\n", "a,x\n", 1, left})
+		rig.HoldSteps(t, m, rig.Behind("x", "", 1, left+2), rig.Behind("\n", "a,x\n", 1, left))
 	}
-	holdSteps(t, m, step{"\n", "a,\n", 0, 0})
+	rig.HoldSteps(t, m, rig.Behind("\n", "a,\n", 0, 0))
 }
 
 // P13.2: nobody asks for an input from which nothing is wanted yet
 func TestAnInputFromWhichNothingIsWantedHoldsUpNothing(t *testing.T) {
 	m := pastes.Make(t, of(3))
 	for range 50 {
-		holdSteps(t, m, step{"a\n", "", 1, 1}, step{"b\n", "", 2, 3}, step{"c\n", "a,b,c\n", 0, 0})
+		rig.HoldSteps(t, m, rig.Behind("a\n", "", 1, 1), rig.Behind("b\n", "", 2, 3), rig.Behind("c\n", "a,b,c\n", 0, 0))
 	}
-	holdSteps(t, m, step{"a", "", 0, 1}, step{".", "", 1, 1}, step{".", "", 2, 2}, step{"\n", "a,,\n", 2, 1}, step{".", "", api.Ended, 0})
+	rig.HoldSteps(t, m, rig.Behind("a", "", 0, 1), rig.Behind(rig.End, "", 1, 1), rig.Behind(rig.End, "", 2, 2), rig.Behind("\n", "a,,\n", 2, 1), rig.Behind(rig.End, "", api.Ended, 0))
 }
 
 // P13.2: there is no row for which no input gives a line
@@ -434,23 +387,8 @@ func holdTooLong(t *testing.T, n, port, rows int) {
 
 // P13.2: with the byte that is too much there come others, ends of lines too
 func TestALineThatIsTooLongFailsInAnyChunk(t *testing.T) {
-	for at := 1; at <= api.MaxChunk; at++ {
-		for _, fill := range []string{"x", "\n"} {
-			for port := range 2 {
-				d := pastes.Drive(t, of(2))
-				for range port {
-					d.Feed("a\nb\n")
-				}
-				line := strings.Repeat("y", 65-at)
-				d.Feed(line[:32])
-				d.Feed(line[32:])
-				d.Feed(strings.Repeat("y", at) + strings.Repeat(fill, api.MaxChunk-at))
-				if d.Seen != (rig.Seen{Need: api.Ended, Err: api.ErrLong}) {
-					t.Errorf("input %d, byte %d of a chunk: %+v; want ErrLong, and nothing held", port, at, d.Seen)
-				}
-			}
-		}
-	}
+	pastes.HoldTooLong(t, of(2))
+	pastes.HoldTooLong(t, of(2), "a\nb\n")
 }
 
 // P13.2: it fails when that input is read, not ahead of that, and what is behind the line
@@ -461,17 +399,17 @@ func TestALineThatIsTooLongFailsWhenItIsRead(t *testing.T) {
 		ins  []rig.Input
 		seen rig.Seen
 	}{
-		{[]rig.Input{begun(""), whole(long)}, rig.Seen{}},
-		{[]rig.Input{begun("a"), whole(long + "\n")}, rig.Seen{}},
-		{[]rig.Input{begun("a\n"), whole(long)}, rig.Seen{Need: api.Ended, Err: api.ErrLong}},
-		{[]rig.Input{begun("a\n"), whole("x\n" + long)}, rig.Seen{Out: "a,x\n"}},
-		{[]rig.Input{whole("a\n"), whole("x\n" + long + "\ny\n")}, rig.Seen{Out: "a,x\n", Need: api.Ended, Err: api.ErrLong}},
-		{[]rig.Input{whole(long), begun("")}, rig.Seen{Need: api.Ended, Err: api.ErrLong}},
-		{[]rig.Input{begun("a\n" + long), begun("x\n")}, rig.Seen{Out: "a,x\n", Need: api.Ended, Err: api.ErrLong}},
-		{[]rig.Input{begun("a\n" + long), begun("x")}, rig.Seen{Need: 1}},
-		{[]rig.Input{whole(""), begun(""), begun(long)}, rig.Seen{Need: 1}},
-		{[]rig.Input{whole(""), begun("\n"), begun(long)}, rig.Seen{Need: api.Ended, Err: api.ErrLong}},
-		{[]rig.Input{whole(""), whole(long), whole(long)}, rig.Seen{Need: api.Ended, Err: api.ErrLong}},
+		{[]rig.Input{rig.Begun(""), rig.Ended(long)}, rig.Seen{}},
+		{[]rig.Input{rig.Begun("a"), rig.Ended(long + "\n")}, rig.Seen{}},
+		{[]rig.Input{rig.Begun("a\n"), rig.Ended(long)}, rig.Seen{Need: api.Ended, Err: api.ErrLong}},
+		{[]rig.Input{rig.Begun("a\n"), rig.Ended("x\n" + long)}, rig.Seen{Out: "a,x\n"}},
+		{[]rig.Input{rig.Ended("a\n"), rig.Ended("x\n" + long + "\ny\n")}, rig.Seen{Out: "a,x\n", Need: api.Ended, Err: api.ErrLong}},
+		{[]rig.Input{rig.Ended(long), rig.Begun("")}, rig.Seen{Need: api.Ended, Err: api.ErrLong}},
+		{[]rig.Input{rig.Begun("a\n" + long), rig.Begun("x\n")}, rig.Seen{Out: "a,x\n", Need: api.Ended, Err: api.ErrLong}},
+		{[]rig.Input{rig.Begun("a\n" + long), rig.Begun("x")}, rig.Seen{Need: 1}},
+		{[]rig.Input{rig.Ended(""), rig.Begun(""), rig.Begun(long)}, rig.Seen{Need: 1}},
+		{[]rig.Input{rig.Ended(""), rig.Begun("\n"), rig.Begun(long)}, rig.Seen{Need: api.Ended, Err: api.ErrLong}},
+		{[]rig.Input{rig.Ended(""), rig.Ended(long), rig.Ended(long)}, rig.Seen{Need: api.Ended, Err: api.ErrLong}},
 	} {
 		for _, size := range []int{1, 2, 31, 32} {
 			seen := pastes.RunOf(t, of(len(c.ins)), c.ins, size)
@@ -487,7 +425,7 @@ func TestManyRowsComeInOneAnswer(t *testing.T) {
 	for n := 1; n <= api.MaxPorts; n++ {
 		m := pastes.Make(t, of(n))
 		for port := range n {
-			holdSteps(t, m, step{rig.Word(32), "", port, 32 + max(0, port*64+port-1)}, step{rig.Word(32), "", port, 64 + max(0, port*64+port-1)})
+			rig.HoldSteps(t, m, rig.Behind(rig.Word(32), "", port, 32+max(0, port*64+port-1)), rig.Behind(rig.Word(32), "", port, 64+max(0, port*64+port-1)))
 			outs, e := m.Feed(port, []byte(strings.Repeat("\n", 32)))
 			if port < n-1 {
 				if outs != nil || e != api.OK || m.Need() != port+1 {
@@ -552,14 +490,14 @@ func TestWhatIsHeldIsWithinTheBound(t *testing.T) {
 
 // P13.3: what waits, what is begun, and the row, each by itself
 func TestHeldCountsWhatWaitsAndWhatIsBegunAndTheRow(t *testing.T) {
-	holdSteps(t, pastes.Make(t, of(2)),
-		step{"ab", "", 0, 2}, step{"c\n", "", 1, 3}, step{"x", "", 1, 4}, step{"\nyz", "abc,x\n", 0, 2},
-		step{"\n\n\n", "", 1, 2}, step{"\n", ",yz\n", 1, 0})
-	holdSteps(t, pastes.Make(t, of(2)),
-		step{"ab\ncde\nf", "", 1, 6}, step{"\n", "ab,\n", 1, 4}, step{".", "cde,\n", 0, 1}, step{".", "f,\n", api.Ended, 0})
-	holdSteps(t, pastes.Make(t, of(4)),
-		step{"ab\n", "", 1, 2}, step{"cd\n", "", 2, 5}, step{"ef\n", "", 3, 8}, step{"gh", "", 3, 10}, step{"\n", "ab,cd,ef,gh\n", 0, 0},
-		step{"\n", "", 1, 0}, step{"\n", "", 2, 1}, step{"\n", "", 3, 2}, step{"\n", ",,,\n", 0, 0})
+	rig.HoldSteps(t, pastes.Make(t, of(2)),
+		rig.Behind("ab", "", 0, 2), rig.Behind("c\n", "", 1, 3), rig.Behind("x", "", 1, 4), rig.Behind("\nyz", "abc,x\n", 0, 2),
+		rig.Behind("\n\n\n", "", 1, 2), rig.Behind("\n", ",yz\n", 1, 0))
+	rig.HoldSteps(t, pastes.Make(t, of(2)),
+		rig.Behind("ab\ncde\nf", "", 1, 6), rig.Behind("\n", "ab,\n", 1, 4), rig.Behind(rig.End, "cde,\n", 0, 1), rig.Behind(rig.End, "f,\n", api.Ended, 0))
+	rig.HoldSteps(t, pastes.Make(t, of(4)),
+		rig.Behind("ab\n", "", 1, 2), rig.Behind("cd\n", "", 2, 5), rig.Behind("ef\n", "", 3, 8), rig.Behind("gh", "", 3, 10), rig.Behind("\n", "ab,cd,ef,gh\n", 0, 0),
+		rig.Behind("\n", "", 1, 0), rig.Behind("\n", "", 2, 1), rig.Behind("\n", "", 3, 2), rig.Behind("\n", ",,,\n", 0, 0))
 }
 
 // P13.4: of each input
@@ -581,7 +519,7 @@ func TestChunksOfMaxChunkBytesAreTakenAndNoGreaterOnes(t *testing.T) {
 // P13.4: ahead of each step, and behind the last one
 func TestRefusalsChangeNothing(t *testing.T) {
 	for _, texts := range lists() {
-		for _, ins := range endings(texts) {
+		for _, ins := range rig.Endings(texts...) {
 			if len(texts) < 4 || ins[0].Ended {
 				pastes.HoldRefusalsOf(t, of(len(ins)), ins)
 			}
@@ -626,17 +564,9 @@ func TestEachUndueCallIsRefused(t *testing.T) {
 				for m.Need() != api.Ended {
 					m.End(m.Need())
 				}
-				holdDone(t, m, call)
+				rig.HoldDone(t, m, call)
 			}
 		}
-	}
-}
-
-// holdDone holds a call of a paste that has ended, or failed, against its refusal.
-func holdDone(t *testing.T, m api.Machine, call rig.Call) {
-	t.Helper()
-	if outs, e := call.Make(m); outs != nil || e != api.ErrDone || m.Need() != api.Ended || m.Held() != 0 {
-		t.Errorf("%s: %+v, %v, Need %d, Held %d; want ErrDone", call.Name, outs, e, m.Need(), m.Held())
 	}
 }
 
@@ -650,11 +580,11 @@ func TestBehindTheEndAndBehindAFailureAllIsRefused(t *testing.T) {
 			}
 			for range 2 {
 				for i := range n {
-					holdDone(t, m, rig.FeedOf(i, []byte("a\n")))
-					holdDone(t, m, rig.Call{Name: "End", Make: func(m api.Machine) ([]api.Out, api.Errno) { return m.End(i) }})
+					rig.HoldDone(t, m, rig.FeedOf(i, []byte("a\n")))
+					rig.HoldDone(t, m, rig.Call{Name: "End", Make: func(m api.Machine) ([]api.Out, api.Errno) { return m.End(i) }})
 				}
 				for _, call := range rig.UndueCallsOf(-4) {
-					holdDone(t, m, call)
+					rig.HoldDone(t, m, call)
 				}
 			}
 		}
@@ -724,16 +654,7 @@ func TestAnswersShareNothing(t *testing.T) {
 	if len(kept) < 4 {
 		t.Fatalf("%+v", kept)
 	}
-	for i := range kept {
-		before := rig.Text(slices.Concat(kept[:i], kept[i+1:]))
-		memory := kept[i].Bytes[:cap(kept[i].Bytes)]
-		for at := range memory {
-			memory[at] = '!'
-		}
-		if now := rig.Text(slices.Concat(kept[:i], kept[i+1:])); now != before {
-			t.Errorf("the others were %q, and are %q now", before, now)
-		}
-	}
+	rig.HoldApart(t, kept...)
 }
 
 // P13.5: each input by chunks of a size of its own
@@ -762,7 +683,7 @@ func TestEachInputComesByChunksOfItsOwn(t *testing.T) {
 // P13.6: of the input that is read, and of others, too
 func TestMoreOfInputsGoesOnFromWhatCame(t *testing.T) {
 	for _, texts := range lists() {
-		for _, ins := range endings(texts) {
+		for _, ins := range rig.Endings(texts...) {
 			if ended := ins[0].Ended; ended || len(ins) < 3 {
 				pastes.HoldGrowthOf(t, of(len(ins)), ins)
 			}

@@ -1,6 +1,11 @@
 package rig
 
-import "penstock/api"
+import (
+	"slices"
+	"strings"
+
+	"penstock/api"
+)
 
 // Text is an answer's bytes.
 func Text(outs []api.Out) string {
@@ -21,6 +26,27 @@ func (s Subject) Told(t Test, p api.Params, input string, size int) string {
 // ToldOf is all that a machine tells of whole inputs, likewise.
 func (s Subject) ToldOf(t Test, p api.Params, size int, inputs ...string) string {
 	t.Helper()
+	text, left := s.told(t, p, size, inputs)
+	for _, in := range left {
+		if in != (Input{}) {
+			t.Fatalf("%+v, inputs %q: not read: %v", p, inputs, left)
+		}
+	}
+	return text
+}
+
+// ToldOfSome is all that a machine tells of whole inputs, likewise; but it need not read
+// all of them.
+func (s Subject) ToldOfSome(t Test, p api.Params, size int, inputs ...string) string {
+	t.Helper()
+	text, _ := s.told(t, p, size, inputs)
+	return text
+}
+
+// told is all that a machine tells of whole inputs till it has ended, and what is left of
+// them.
+func (s Subject) told(t Test, p api.Params, size int, inputs []string) (string, []Input) {
+	t.Helper()
 	m := s.Make(t, p)
 	text := ""
 	left := handOn(m, Whole(inputs...), size, func(outs []api.Out, e api.Errno) {
@@ -29,12 +55,10 @@ func (s Subject) ToldOf(t Test, p api.Params, size int, inputs ...string) string
 		}
 		text += Text(outs)
 	})
-	for _, in := range left {
-		if in != (Input{}) || m.Need() != api.Ended {
-			t.Fatalf("%+v, inputs %q: Need %d; not read: %v", p, inputs, m.Need(), left)
-		}
+	if m.Need() != api.Ended {
+		t.Fatalf("%+v, inputs %q: Need %d; not read: %v", p, inputs, m.Need(), left)
 	}
-	return text
+	return text, left
 }
 
 // Take hands a machine a chunk, and holds what comes of it, and how many bytes are held
@@ -107,6 +131,41 @@ func (s Subject) HoldAnswersOf(t Test, p api.Params, ins []Input, size int) {
 	for i, outs := range kept {
 		if now := Text(outs); now != came[i] {
 			t.Fatalf("%+v: answer %d was %q, and is %q now", p, i, came[i], now)
+		}
+	}
+}
+
+// HoldApart writes over each of these, and over what stands behind it in memory: the
+// others stay as they are.
+func HoldApart(t Test, kept ...api.Out) {
+	t.Helper()
+	for i, o := range kept {
+		before := Text(slices.Concat(kept[:i], kept[i+1:]))
+		spoil(o.Bytes[:cap(o.Bytes)])
+		if now := Text(slices.Concat(kept[:i], kept[i+1:])); now != before {
+			t.Fatalf("the others were %q, and are %q now", before, now)
+		}
+	}
+}
+
+// HoldTooLong hands machines, behind chunks by which nothing comes out, a line that is
+// too long by each byte of a chunk, in which there come others behind it, ends of lines
+// too.
+func (s Subject) HoldTooLong(t Test, p api.Params, ahead ...string) {
+	t.Helper()
+	for at := 1; at <= api.MaxChunk; at++ {
+		for _, fill := range []string{"x", "\n"} {
+			d := s.Drive(t, p)
+			for _, chunk := range ahead {
+				d.Feed(chunk)
+			}
+			line := strings.Repeat("y", api.MaxLine+1-at)
+			d.Feed(line[:api.MaxChunk])
+			d.Feed(line[api.MaxChunk:])
+			d.Feed(strings.Repeat("y", at) + strings.Repeat(fill, api.MaxChunk-at))
+			if d.Seen != (Seen{Need: api.Ended, Err: api.ErrLong}) {
+				d.wrong("by byte %d of a chunk: %+v; want ErrLong, and nothing held", at, d.Seen)
+			}
 		}
 	}
 }

@@ -22,6 +22,12 @@ func (in Input) String() string {
 	return strconv.Quote(in.Text)
 }
 
+// Ended is an input that has ended.
+func Ended(text string) Input { return Input{Text: text, Ended: true} }
+
+// Begun is an input that has not ended, or has failed.
+func Begun(text string) Input { return Input{Text: text} }
+
 // Whole makes inputs that have ended.
 func Whole(texts ...string) []Input {
 	var ins []Input
@@ -29,6 +35,20 @@ func Whole(texts ...string) []Input {
 		ins = append(ins, Input{text, true})
 	}
 	return ins
+}
+
+// Endings are the ways in which some of these inputs have ended, and others have not: one
+// that has failed is one that has not ended, and of which no more comes.
+func Endings(texts ...string) [][]Input {
+	var all [][]Input
+	for ended := range 1 << len(texts) {
+		ins := Whole(texts...)
+		for i := range ins {
+			ins[i].Ended = ended>>i&1 == 1
+		}
+		all = append(all, ins)
+	}
+	return all
 }
 
 // OfOne makes what is to be seen of a machine by its inputs of what is to be seen of it

@@ -117,6 +117,14 @@ func FeedOf(port int, b []byte) Call {
 	return Call{"Feed", func(m api.Machine) ([]api.Out, api.Errno) { return m.Feed(port, b) }}
 }
 
+// HoldDone holds a call of a machine that has ended, or failed, against its refusal.
+func HoldDone(t Test, m api.Machine, call Call) {
+	t.Helper()
+	if outs, e := call.Make(m); outs != nil || e != api.ErrDone || m.Need() != api.Ended || m.Held() != 0 {
+		t.Fatalf("%s, behind the end: %+v, error %d, Need %d, Held %d; want ErrDone", call.Name, outs, e, m.Need(), m.Held())
+	}
+}
+
 // HoldChunkLimits hands machines that read a chunk of one byte more than there may be,
 // and then one of as many, by each of their inputs.
 func (s Subject) HoldChunkLimits(t Test, params ...api.Params) {

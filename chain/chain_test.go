@@ -29,22 +29,13 @@ func reckon(_ api.Params, ins []rig.Input) rig.Seen {
 	return rig.Seen{Out: out, Need: api.Ended}
 }
 
-// every is all 256 bytes.
-func every() string {
-	all := make([]byte, 256)
-	for i := range all {
-		all[i] = byte(i)
-	}
-	return string(all)
-}
-
 // lists are lists of inputs, of one as of four.
 func lists() [][]string {
 	long := strings.Repeat("-", 65)
 	return [][]string{
-		{""}, {"a"}, {"\n"}, {"a\nb"}, {every()}, {rig.Word(200)},
+		{""}, {"a"}, {"\n"}, {"a\nb"}, {rig.Every()}, {rig.Word(200)},
 		{"", ""}, {"", "a"}, {"a", ""}, {"ab", "c"}, {"a\n", "b\n"}, {"a", "\n"}, {"\n", "\n"},
-		{"a", "a"}, {rig.Word(32), rig.Word(33)}, {long, "\n" + long}, {every(), every()},
+		{"a", "a"}, {rig.Word(32), rig.Word(33)}, {long, "\n" + long}, {rig.Every(), rig.Every()},
 		{"", "", ""}, {"a", "", ""}, {"", "a", ""}, {"", "", "a"}, {"a", "", "b"}, {"ab", "cd", "ef"},
 		{"\x00\n\r\xff", "\xff\r", "\n\x00"}, {rig.Word(31), rig.Word(64), rig.Word(1)}, {"a\n", long, "b"},
 		{"", "", "", ""}, {"a", "", "", ""}, {"", "", "", "a"}, {"", "a", "", "b"}, {"a", "", "", "b"},
@@ -90,36 +81,7 @@ func end(t *testing.T, m api.Machine, port int) {
 
 // P12.1
 func TestNewMakesAMachineOfChainsAlone(t *testing.T) {
-	for n := 1; n <= api.MaxPorts; n++ {
-		for _, none := range [][]byte{nil, {}} {
-			p := of(n)
-			p.A, p.B = none, none
-			if m := chains.Make(t, p); m.Need() != 0 || m.Held() != 0 {
-				t.Errorf("%+v: Need %d, Held %d; want 0, 0", p, m.Need(), m.Held())
-			}
-		}
-	}
-}
-
-// P12.1
-func TestNewRefuses(t *testing.T) {
-	var own []rig.Refusal
-	refuse := func(n int, a, b []byte) {
-		p := api.Params{Kind: api.KindChain, N: n, A: a, B: b}
-		own = append(own, rig.Refusal{P: p, Err: api.ErrParam})
-	}
-	for _, n := range []int{0, -1, -2, -4, 5, 6, 16, 1000000000, 1 << 32, 1<<32 + 1, 1<<63 - 1, -1 << 63} {
-		refuse(n, nil, nil)
-		refuse(n, []byte("a"), []byte("b"))
-	}
-	for n := 1; n <= api.MaxPorts; n++ {
-		for _, text := range []string{"a", "\n", "\x00", ",", strings.Repeat("b", 5000)} {
-			refuse(n, []byte(text), nil)
-			refuse(n, nil, []byte(text))
-			refuse(n, []byte(text), []byte(text))
-		}
-	}
-	chains.HoldNew(t, api.KindChain, own...)
+	chains.HoldNewByPorts(t, api.KindChain)
 }
 
 // P12.2
@@ -418,7 +380,7 @@ func TestChunksAreNeitherKeptNorChanged(t *testing.T) {
 // P12.4: answers that are kept stay as they are, whatever comes behind them
 func TestAnswersAreNewMemory(t *testing.T) {
 	for size := 1; size <= api.MaxChunk; size++ {
-		for _, texts := range [][]string{{rig.Letters()}, {rig.Letters(), every()}, {"abc", rig.Word(100), rig.Letters()}, {every(), "", "a\n", rig.Letters()}} {
+		for _, texts := range [][]string{{rig.Letters()}, {rig.Letters(), rig.Every()}, {"abc", rig.Word(100), rig.Letters()}, {rig.Every(), "", "a\n", rig.Letters()}} {
 			chains.HoldAnswersOf(t, of(len(texts)), rig.Whole(texts...), size)
 		}
 	}
@@ -440,7 +402,7 @@ func TestAnswersShareNothing(t *testing.T) {
 
 // P12.5: each input by chunks of a size of its own
 func TestEachInputComesByChunksOfItsOwn(t *testing.T) {
-	texts := []string{rig.Word(70), "a\n" + rig.Letters(), every(), rig.Word(33)}
+	texts := []string{rig.Word(70), "a\n" + rig.Letters(), rig.Every(), rig.Word(33)}
 	want := strings.Join(texts, "")
 	for size := 1; size <= api.MaxChunk; size++ {
 		d := chains.Drive(t, of(4))

@@ -5,6 +5,7 @@ import (
 	"strings"
 
 	"penstock/api"
+	"penstock/params"
 )
 
 // Text is an answer's bytes.
@@ -26,39 +27,57 @@ func (s Subject) Told(t Test, p api.Params, input string, size int) string {
 // ToldOf is all that a machine tells of whole inputs, likewise.
 func (s Subject) ToldOf(t Test, p api.Params, size int, inputs ...string) string {
 	t.Helper()
-	text, left := s.told(t, p, size, inputs)
-	for _, in := range left {
-		if in != (Input{}) {
-			t.Fatalf("%+v, inputs %q: not read: %v", p, inputs, left)
-		}
-	}
-	return text
+	return s.toldWhole(t, p, size, inputs).Out
+}
+
+// ToldEach is all that a machine tells each of its outputs of a whole input, likewise.
+func (s Subject) ToldEach(t Test, p api.Params, input string, size int) []string {
+	t.Helper()
+	_, count, _ := params.Arity(p)
+	all := s.toldWhole(t, p, size, []string{input}).outputs()
+	return all[:count]
 }
 
 // ToldOfSome is all that a machine tells of whole inputs, likewise; but it need not read
 // all of them.
 func (s Subject) ToldOfSome(t Test, p api.Params, size int, inputs ...string) string {
 	t.Helper()
-	text, _ := s.told(t, p, size, inputs)
-	return text
+	seen, _ := s.told(t, p, size, inputs)
+	return seen.Out
 }
 
-// told is all that a machine tells of whole inputs till it has ended, and what is left of
-// them.
-func (s Subject) told(t Test, p api.Params, size int, inputs []string) (string, []Input) {
+// toldWhole is what is seen of a machine that has told all that it tells of whole inputs,
+// and has read all of them.
+func (s Subject) toldWhole(t Test, p api.Params, size int, inputs []string) Seen {
+	t.Helper()
+	seen, left := s.told(t, p, size, inputs)
+	for _, in := range left {
+		if in != (Input{}) {
+			t.Fatalf("%+v, inputs %q: not read: %v", p, inputs, left)
+		}
+	}
+	return seen
+}
+
+// told is what is seen of a machine that has told all that it tells of whole inputs, and
+// has ended, and what is left of them.
+func (s Subject) told(t Test, p api.Params, size int, inputs []string) (Seen, []Input) {
 	t.Helper()
 	m := s.Make(t, p)
-	text := ""
+	var seen Seen
 	left := handOn(m, Whole(inputs...), size, func(outs []api.Out, e api.Errno) {
 		if e != api.OK {
-			t.Fatalf("%+v, inputs %q, behind %q: error %d", p, inputs, text, e)
+			t.Fatalf("%+v, inputs %q, behind %q: error %d", p, inputs, seen.outputs(), e)
 		}
-		text += Text(outs)
+		holdOuts(t, p, outs)
+		for _, o := range outs {
+			seen = seen.with(o)
+		}
 	})
 	if m.Need() != api.Ended {
 		t.Fatalf("%+v, inputs %q: Need %d; not read: %v", p, inputs, m.Need(), left)
 	}
-	return text, left
+	return seen, left
 }
 
 // Take hands a machine a chunk, and holds what comes of it, and how many bytes are held

@@ -3,7 +3,6 @@ package rig
 import (
 	"slices"
 	"strconv"
-	"strings"
 
 	"penstock/api"
 )
@@ -163,7 +162,7 @@ func (s Subject) HoldGrowthOf(t Test, p api.Params, ins []Input) {
 		for _, i := range order {
 			came[i] = grow(came[i], ins[i])
 			seen := s.RunOf(t, p, came, 16)
-			if !strings.HasPrefix(seen.Out, before.Out) || before.Need == api.Ended && seen != before {
+			if !seen.goesOnFrom(before) || before.Need == api.Ended && seen != before {
 				t.Fatalf("%+v, inputs %v: %+v; a step ahead: %+v", p, came, seen, before)
 			}
 			before = seen

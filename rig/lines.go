@@ -11,6 +11,15 @@ func Word(n int) string {
 	return strings.Repeat("abcdefg", n/7+1)[:n]
 }
 
+// Every is all 256 bytes.
+func Every() string {
+	all := make([]byte, 256)
+	for i := range all {
+		all[i] = byte(i)
+	}
+	return string(all)
+}
+
 // Inputs are inputs of a machine of lines.
 func Inputs() []string {
 	return []string{

@@ -161,6 +161,31 @@ func (s Subject) HoldNew(t Test, kind int, own ...Refusal) {
 	}
 }
 
+// HoldNewByPorts makes sure that New makes machines of a kind that has no A and no B, and
+// whose N is how many ports there are, with N from 1 to MaxPorts alone.
+func (s Subject) HoldNewByPorts(t Test, kind int) {
+	t.Helper()
+	var own []Refusal
+	refuse := func(n int, a, b []byte) {
+		own = append(own, Refusal{api.Params{Kind: kind, N: n, A: a, B: b}, api.ErrParam})
+	}
+	for _, n := range []int{0, -1, -2, -4, 5, 6, 16, 1000000000, 1 << 32, 1<<32 + 1, 1<<63 - 1, -1 << 63} {
+		refuse(n, nil, nil)
+		refuse(n, []byte("a"), []byte("b"))
+	}
+	for n := 1; n <= api.MaxPorts; n++ {
+		for _, none := range [][]byte{nil, {}} {
+			s.Drive(t, api.Params{Kind: kind, N: n, A: none, B: none})
+		}
+		for _, text := range []string{"a", "\n", "\x00", ",", strings.Repeat("b", 5000)} {
+			refuse(n, []byte(text), nil)
+			refuse(n, nil, []byte(text))
+			refuse(n, []byte(text), []byte(text))
+		}
+	}
+	s.HoldNew(t, kind, own...)
+}
+
 // refuses makes sure that New makes no machine of such parameters.
 func (s Subject) refuses(t Test, r Refusal) {
 	t.Helper()

@@ -1,11 +1,9 @@
-// Package rig is for the tests of machines that have one output: it hands a machine
-// what it asks for, and holds what is seen of it at each step against the denotation.
-// No layer calls it.
+// Package rig is for the tests of machines: it hands a machine what it asks for, and
+// holds what is seen of it at each step against the denotation. No layer calls it.
 package rig
 
 import (
 	"slices"
-	"strings"
 
 	"penstock/api"
 	"penstock/params"
@@ -17,13 +15,15 @@ type Test interface {
 	Fatalf(format string, args ...any)
 }
 
-// Seen is what is seen of a machine: all that came out, what it asks for, the error by
-// which it failed, and how many bytes it holds.
+// Seen is what is seen of a machine: all that came out of output 0, what it asks for,
+// the error by which it failed, how many bytes it holds, and all that came out of the
+// other outputs, from 1 on.
 type Seen struct {
-	Out  string
-	Need int
-	Err  api.Errno
-	Held int
+	Out    string
+	Need   int
+	Err    api.Errno
+	Held   int
+	Others [api.MaxPorts - 1]string
 }
 
 // Subject is machines of one kind: how they are made, and what is to be seen of one
@@ -137,13 +137,13 @@ func (d *Driver) takePieces() {
 	d.test.Helper()
 	for d.Seen.Err == api.OK && d.Seen.Need == api.More {
 		d.pester()
-		before := d.Seen.Out
+		before := d.Seen.outputs()
 		d.note(d.Machine.More())
-		if d.Seen.Out == before && d.Seen.Err == api.OK {
+		if d.Seen.outputs() == before && d.Seen.Err == api.OK {
 			d.wrong("a piece without bytes")
 		}
-		if want := d.subject.Reckon(d.p, d.ins).Out; !strings.HasPrefix(want, d.Seen.Out) {
-			d.wrong("%q came out by a piece; want a beginning of %q", d.Seen.Out, want)
+		if want := d.subject.Reckon(d.p, d.ins); !want.goesOnFrom(d.Seen) {
+			d.wrong("%q came out by a piece; want beginnings of %q", d.Seen.outputs(), want.outputs())
 		}
 	}
 	d.compare()
@@ -181,12 +181,11 @@ func (d *Driver) seenIs(want Seen) {
 // the machine's own memory, what comes later would tell it.
 func (d *Driver) note(outs []api.Out, e api.Errno) {
 	d.test.Helper()
+	holdOuts(d.test, d.p, outs)
 	text := ""
 	for i, o := range outs {
-		if o.Port != 0 || len(o.Bytes) == 0 {
-			d.wrong("Out %+v", o)
-		}
 		text += string(o.Bytes)
+		d.Seen = d.Seen.with(o)
 		spoil(o.Bytes[:cap(o.Bytes)])
 		outs[i] = api.Out{Port: 77}
 	}
@@ -196,7 +195,7 @@ func (d *Driver) note(outs []api.Out, e api.Errno) {
 	if text != "" {
 		d.Answers = append(d.Answers, text)
 	}
-	d.Seen = Seen{d.Seen.Out + text, d.Machine.Need(), e, d.Machine.Held()}
+	d.Seen.Need, d.Seen.Err, d.Seen.Held = d.Machine.Need(), e, d.Machine.Held()
 	if bound, _ := params.Bound(d.p); d.Seen.Held < 0 || d.Seen.Held > bound {
 		d.wrong("it holds %d bytes; at most %d", d.Seen.Held, bound)
 	}

@@ -35,7 +35,7 @@ func HoldSteps(t Test, m api.Machine, steps ...Step) {
 			t.Fatalf("step %d, %q: Need %d", k, s.chunk, need)
 		}
 		outs, e := s.call(m)
-		if seen := (Seen{Text(outs), m.Need(), e, m.Held()}); seen != s.seen {
+		if seen := (Seen{Out: Text(outs), Need: m.Need(), Err: e, Held: m.Held()}); seen != s.seen {
 			t.Fatalf("step %d, %q of %d: %+v; want %+v", k, s.chunk, need, seen, s.seen)
 		}
 	}

@@ -298,12 +298,10 @@ func TestRefusalsChangeNothing(t *testing.T) {
 func TestEachUndueCallIsRefused(t *testing.T) {
 	for n := 1; n <= api.MaxPorts; n++ {
 		for port := range n {
-			for k, call := range rig.UndueCallsOf(port) {
+			for _, call := range rig.UndueCallsOf(port) {
 				m := ready(t, n, port)
 				for range 2 {
-					if outs, e := call.Make(m); outs != nil || e != api.ErrArg || m.Need() != port || m.Held() != 0 {
-						t.Errorf("N %d, input %d, call %d, %s: %+v, %v, Need %d, Held %d; want ErrArg", n, port, k, call.Name, outs, e, m.Need(), m.Held())
-					}
+					rig.HoldUndue(t, m, call)
 					take(t, m, port, "a\nb")
 				}
 				call.Make(m)

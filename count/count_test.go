@@ -325,16 +325,12 @@ func TestWhatIsRefusedIsNotCounted(t *testing.T) {
 			if ahead != "" {
 				m.Feed(0, []byte(ahead))
 			}
-			if outs, e := call.Make(m); outs != nil || e != api.ErrArg || m.Need() != 0 || m.Held() != 0 {
-				t.Errorf("%s, behind %q: %+v, %v, Need %d, Held %d; want ErrArg", call.Name, ahead, outs, e, m.Need(), m.Held())
-			}
+			rig.HoldUndue(t, m, call)
 			m.Feed(0, []byte("c\n"))
 			if outs, _ := m.End(0); rig.Text(outs) != counted(ahead+"c\n") {
 				t.Errorf("%s, behind %q: %q in the end", call.Name, ahead, rig.Text(outs))
 			}
-			if outs, e := call.Make(m); outs != nil || e != api.ErrDone || m.Need() != api.Ended || m.Held() != 0 {
-				t.Errorf("%s, behind the end: %+v, %v, Need %d, Held %d; want ErrDone", call.Name, outs, e, m.Need(), m.Held())
-			}
+			rig.HoldDone(t, m, call)
 		}
 	}
 }

@@ -463,10 +463,7 @@ func TestWhatIsRefusedIsNotNumbered(t *testing.T) {
 			chunk, out string
 			held       int
 		}{{"a", "", 1}, {"\nb", "9 a\n", 1}, {"\n", "10 b\n", 0}, {"c\n\n", "11 c\n12 \n", 0}} {
-			held := m.Held()
-			if outs, e := call.Make(m); outs != nil || e != api.ErrArg || m.Need() != 0 || m.Held() != held {
-				t.Errorf("%s, ahead of %q: %+v, %v, Need %d, Held %d; want ErrArg", call.Name, c.chunk, outs, e, m.Need(), m.Held())
-			}
+			rig.HoldUndue(t, m, call)
 			rig.Take(t, m, c.chunk, c.out, c.held)
 		}
 		rig.Take(t, m, "d", "", 1)
@@ -581,7 +578,7 @@ func TestMoreOfAnInputGoesOnFromWhatCame(t *testing.T) {
 // P11.7: without the denotation, and without what drives by it
 func TestWithoutTheirNumbersTheyAreTheInputsLines(t *testing.T) {
 	for _, input := range inputs() {
-		if slices.ContainsFunc(strings.Split(input, "\n"), func(l string) bool { return len(l) > 64 }) {
+		if rig.HasTooLong(input) {
 			continue
 		}
 		for _, n := range append(some(), 99, 12345) {
@@ -618,10 +615,7 @@ func holdNumbered(t *testing.T, n int, input, out string) {
 		without += text
 		n++
 	}
-	if input != "" && !strings.HasSuffix(input, "\n") {
-		input += "\n"
-	}
-	if without != input {
+	if without != rig.LastEnded(input) {
 		t.Errorf("%q comes to %q, without numbers %q", input, out, without)
 	}
 }

@@ -70,9 +70,7 @@ func (s Subject) told(t Test, p api.Params, size int, inputs []string) (Seen, []
 			t.Fatalf("%+v, inputs %q, behind %q: error %d", p, inputs, seen.outputs(), e)
 		}
 		holdOuts(t, p, outs)
-		for _, o := range outs {
-			seen = seen.with(o)
-		}
+		seen = seen.withAll(outs)
 	})
 	if m.Need() != api.Ended {
 		t.Fatalf("%+v, inputs %q: Need %d; not read: %v", p, inputs, m.Need(), left)

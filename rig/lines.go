@@ -1,6 +1,7 @@
 package rig
 
 import (
+	"slices"
 	"strings"
 
 	"penstock/api"
@@ -66,6 +67,20 @@ func SmallInputs(most int) []string {
 		}
 	}
 	return inputs
+}
+
+// HasTooLong tells whether one of an input's lines is too long.
+func HasTooLong(input string) bool {
+	return slices.ContainsFunc(strings.Split(input, "\n"), func(text string) bool { return len(text) > api.MaxLine })
+}
+
+// LastEnded is an input whose last line has its end: what all its lines come to, as they
+// are.
+func LastEnded(input string) string {
+	if input == "" || strings.HasSuffix(input, "\n") {
+		return input
+	}
+	return input + "\n"
 }
 
 // EachLine reckons what is to be seen of a machine that holds nothing but the line that

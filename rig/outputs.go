@@ -27,6 +27,14 @@ func (s Seen) with(o api.Out) Seen {
 	return s
 }
 
+// withAll puts an answer's bytes behind what came out of their outputs.
+func (s Seen) withAll(outs []api.Out) Seen {
+	for _, o := range outs {
+		s = s.with(o)
+	}
+	return s
+}
+
 // outputs is all that came out of each output, by their numbers.
 func (s Seen) outputs() [api.MaxPorts]string {
 	all := [api.MaxPorts]string{s.Out}
@@ -50,9 +58,15 @@ func (s Seen) goesOnFrom(before Seen) bool {
 func holdOuts(t Test, p api.Params, outs []api.Out) {
 	t.Helper()
 	_, count, _ := params.Arity(p)
+	holdPorts(t, outs, count)
+}
+
+// holdPorts makes sure that an answer is bytes for so many outputs.
+func holdPorts(t Test, outs []api.Out, count int) {
+	t.Helper()
 	for _, o := range outs {
 		if o.Port < 0 || o.Port >= count || len(o.Bytes) == 0 {
-			t.Fatalf("%+v: Out %+v", p, o)
+			t.Fatalf("Out %+v; want bytes, for one of %d outputs", o, count)
 		}
 	}
 }

@@ -117,10 +117,20 @@ func FeedOf(port int, b []byte) Call {
 	return Call{"Feed", func(m api.Machine) ([]api.Out, api.Errno) { return m.Feed(port, b) }}
 }
 
+// HoldUndue holds a call of a machine that has neither ended nor failed, and of which it
+// is not due, against its refusal, by which nothing changes.
+func HoldUndue(t Test, m api.Machine, call Call) {
+	t.Helper()
+	need, held := m.Need(), m.Held()
+	if outs, e := call.Make(m); len(outs) != 0 || e != api.ErrArg || m.Need() != need || m.Held() != held {
+		t.Fatalf("%s, while Need is %d, and Held %d: %+v, error %d, Need %d, Held %d; want ErrArg", call.Name, need, held, outs, e, m.Need(), m.Held())
+	}
+}
+
 // HoldDone holds a call of a machine that has ended, or failed, against its refusal.
 func HoldDone(t Test, m api.Machine, call Call) {
 	t.Helper()
-	if outs, e := call.Make(m); outs != nil || e != api.ErrDone || m.Need() != api.Ended || m.Held() != 0 {
+	if outs, e := call.Make(m); len(outs) != 0 || e != api.ErrDone || m.Need() != api.Ended || m.Held() != 0 {
 		t.Fatalf("%s, behind the end: %+v, error %d, Need %d, Held %d; want ErrDone", call.Name, outs, e, m.Need(), m.Held())
 	}
 }

@@ -182,10 +182,9 @@ func (d *Driver) seenIs(want Seen) {
 func (d *Driver) note(outs []api.Out, e api.Errno) {
 	d.test.Helper()
 	holdOuts(d.test, d.p, outs)
-	text := ""
+	text := Text(outs)
+	d.Seen = d.Seen.withAll(outs)
 	for i, o := range outs {
-		text += string(o.Bytes)
-		d.Seen = d.Seen.with(o)
 		spoil(o.Bytes[:cap(o.Bytes)])
 		outs[i] = api.Out{Port: 77}
 	}

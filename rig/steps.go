@@ -20,6 +20,14 @@ func Behind(chunk, out string, need, held int) Step {
 	return Step{chunk, Seen{Out: out, Need: need, Held: held}}
 }
 
+// BehindEach makes such a step of a machine of several outputs, by what comes out of each
+// of them, by their numbers.
+func BehindEach(chunk string, need, held int, outs ...string) Step {
+	seen := Outputs(outs...)
+	seen.Need, seen.Held = need, held
+	return Step{chunk, seen}
+}
+
 // Fails makes the step of a call by which a machine fails, and holds nothing any more.
 func Fails(chunk, out string, e api.Errno) Step {
 	return Step{chunk, Seen{Out: out, Need: api.Ended, Err: e}}
@@ -35,7 +43,8 @@ func HoldSteps(t Test, m api.Machine, steps ...Step) {
 			t.Fatalf("step %d, %q: Need %d", k, s.chunk, need)
 		}
 		outs, e := s.call(m)
-		if seen := (Seen{Out: Text(outs), Need: m.Need(), Err: e, Held: m.Held()}); seen != s.seen {
+		holdPorts(t, outs, api.MaxPorts)
+		if seen := (Seen{Need: m.Need(), Err: e, Held: m.Held()}).withAll(outs); seen != s.seen {
 			t.Fatalf("step %d, %q of %d: %+v; want %+v", k, s.chunk, need, seen, s.seen)
 		}
 	}

@@ -232,12 +232,10 @@ func TestRefusalsChangeNothing(t *testing.T) {
 // bytes, and of too many; More
 func TestEachUndueCallIsRefused(t *testing.T) {
 	for n := 1; n <= api.MaxPorts; n++ {
-		for k, call := range rig.UndueCallsOf(0) {
+		for _, call := range rig.UndueCallsOf(0) {
 			m := tees.Make(t, of(n))
 			for range 2 {
-				if outs, e := call.Make(m); len(outs) != 0 || e != api.ErrArg || m.Need() != 0 || m.Held() != 0 {
-					t.Errorf("N %d, call %d, %s: %+v, %v, Need %d, Held %d; want ErrArg", n, k, call.Name, outs, e, m.Need(), m.Held())
-				}
+				rig.HoldUndue(t, m, call)
 				take(t, m, n, "a\nb")
 			}
 			call.Make(m)

@@ -464,7 +464,7 @@ func TestMoreOfAnInputGoesOnFromWhatCame(t *testing.T) {
 // P9.7: without the denotation, and without what drives by it
 func TestWhatComesAsOftenAsItWasCountedIsTheInput(t *testing.T) {
 	for _, input := range inputs() {
-		if slices.ContainsFunc(strings.Split(input, "\n"), func(l string) bool { return len(l) > 64 }) {
+		if rig.HasTooLong(input) {
 			continue
 		}
 		for _, size := range []int{1, 3, 32} {
@@ -500,10 +500,7 @@ func holdCounted(t *testing.T, input, firsts, counted string) {
 		without += text
 		whole += strings.Repeat(text, count)
 	}
-	if input != "" && !strings.HasSuffix(input, "\n") {
-		input += "\n"
-	}
-	if whole != input || without != firsts {
+	if whole != rig.LastEnded(input) || without != firsts {
 		t.Errorf("%q comes to %q, and by N 0 to %q", input, counted, firsts)
 	}
 }

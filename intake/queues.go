@@ -59,11 +59,11 @@ func (q *Queue) Held() int {
 	return held
 }
 
-// Queues is what machines have in common that take lines of several inputs: a reader
-// whose chunks go to the queue of their input, which Of tells. Next is what comes of the
-// lines that wait: it reads the input of which it wants one that has not come, or tells
-// pieces, or stops; by an error it has stopped. What is held then will never be told:
-// GiveUp gives it up.
+// Queues is what machines have in common that take lines of several inputs, or that may
+// fail by a line that is not too long: a reader whose chunks go to the queue of their
+// input, which Of tells. Next is what comes of the lines that wait: it reads the input of
+// which it wants one that has not come, or tells pieces, or stops; by an error it has
+// stopped. What is held then will never be told: GiveUp gives it up.
 type Queues struct {
 	Reader
 	Of     func(port int) *Queue

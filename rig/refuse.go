@@ -161,10 +161,10 @@ type Refusal struct {
 // machine may have, and of those of other kinds, and that it leaves what it is handed.
 func (s Subject) HoldNew(t Test, kind int, own ...Refusal) {
 	t.Helper()
-	for _, r := range append(own, mayNotBe()...) {
+	for _, r := range append(own, MayNotBe()...) {
 		s.refuses(t, r)
 	}
-	for _, p := range oneOfEachKind() {
+	for _, p := range OneOfEachKind() {
 		if p.Kind != kind {
 			s.refuses(t, Refusal{p, api.ErrKind})
 		}
@@ -208,9 +208,9 @@ func (s Subject) refuses(t Test, r Refusal) {
 	}
 }
 
-// mayNotBe are parameters that may not be, of no kind or of some: that is told ahead of
+// MayNotBe are parameters that may not be, of no kind or of some: that is told ahead of
 // their being of another kind.
-func mayNotBe() []Refusal {
+func MayNotBe() []Refusal {
 	return []Refusal{
 		{api.Params{}, api.ErrKind},
 		{api.Params{Kind: -1}, api.ErrKind},
@@ -225,8 +225,8 @@ func mayNotBe() []Refusal {
 	}
 }
 
-// oneOfEachKind are parameters that may be.
-func oneOfEachKind() []api.Params {
+// OneOfEachKind are parameters that may be.
+func OneOfEachKind() []api.Params {
 	return []api.Params{
 		{Kind: api.KindSource},
 		{Kind: api.KindSink},
